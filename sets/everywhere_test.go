@@ -6,23 +6,20 @@ import (
 	"testing"
 
 	"rota/api"
+	"rota/probe"
 	"rota/sets"
 )
 
 // TestNoPanic is P1: a panic in any of these calls ends the test.
 func TestNoPanic(t *testing.T) {
-	lists := [][]int{nil, {}, {0}, wide(), {0, 1, 2, 3}, {3, 2, 1, 0}}
-	for _, a := range wide() {
-		lists = append(lists, []int{a}, []int{0, a}, []int{a, 0})
-	}
-	for _, a := range wide() {
+	for _, a := range probe.Wide() {
 		sets.Write(a)
-		for _, b := range wide() {
+		for _, b := range probe.Wide() {
 			sets.Check(a, b)
 			sets.Choose(a, b)
 			sets.Below(a, b)
 		}
-		for _, l := range lists {
+		for _, l := range probe.Lists() {
 			sets.Family(a, l)
 			for _, c := range calls() {
 				c.do(a, l)
@@ -37,58 +34,15 @@ func TestNoPanic(t *testing.T) {
 	}
 }
 
-const mark = -77
-
-// roomy: l, with room behind it that tells whether it was written to.
-func roomy(l []int) []int {
-	room := make([]int, len(l)+300)
-	for i := range room {
-		room[i] = mark
-	}
-	copy(room, l)
-	return room[:len(l)]
-}
-
-// untouched: is what was made by roomy still as it was?
-func untouched(list, was []int) bool {
-	room := list[:cap(list)]
-	for i, v := range room {
-		if i < len(was) && v != was[i] || i >= len(was) && v != mark {
-			return false
-		}
-	}
-	return slices.Equal(list, was)
-}
-
-// overwrite all of an answer, its spare room included.
-func overwrite(l []int) {
-	room := l[:cap(l)]
-	for i := range room {
-		room[i] = mark - 1
-	}
-}
-
 func TestArgumentsStayAndAnswersAreNew(t *testing.T) {
 	for _, c := range calls() {
 		families(func(n int, l []int) {
-			handed := roomy(l)
-			first, _ := c.do(n, handed)
-			if !untouched(handed, l) {
-				t.Errorf("%s(%d, %v) changed what was handed in", c.name, n, l)
+			do := func(l []int) []int {
+				answer, _ := c.do(n, l)
+				return answer
 			}
-			kept := slices.Clone(first)
-			second, _ := c.do(n, handed)
-			overwrite(first)
-			if !untouched(handed, l) {
-				t.Errorf("%s(%d, %v) answers memory that was handed in", c.name, n, l)
-			}
-			third, _ := c.do(n, handed)
-			if !slices.Equal(second, kept) || !slices.Equal(third, kept) {
-				t.Errorf("%s(%d, %v) hangs on earlier answers", c.name, n, l)
-			}
-			overwrite(handed)
-			if !slices.Equal(second, kept) {
-				t.Errorf("%s(%d, %v) keeps what was handed in", c.name, n, l)
+			if told := probe.Memory(l, do); told != "" {
+				t.Errorf("%s(%d, %v) %s", c.name, n, l, told)
 			}
 		})
 	}
@@ -96,12 +50,12 @@ func TestArgumentsStayAndAnswersAreNew(t *testing.T) {
 
 func TestRefusedArgumentsStay(t *testing.T) {
 	for _, x := range wrongFamilies() {
-		handed := roomy(x.l)
+		handed := probe.Roomy(x.l)
 		sets.Family(x.n, handed)
 		for _, c := range calls() {
 			c.do(x.n, handed)
 		}
-		if !untouched(handed, x.l) {
+		if !probe.Untouched(handed, x.l) {
 			t.Errorf("%d, %.8v was changed", x.n, x.l)
 		}
 	}
@@ -109,8 +63,8 @@ func TestRefusedArgumentsStay(t *testing.T) {
 
 func TestFamilyLeavesItsList(t *testing.T) {
 	families(func(n int, l []int) {
-		handed := roomy(l)
-		if e := sets.Family(n, handed); e != api.OK || !untouched(handed, l) {
+		handed := probe.Roomy(l)
+		if e := sets.Family(n, handed); e != api.OK || !probe.Untouched(handed, l) {
 			t.Errorf("Family(%d, %v) = %d, and left %v", n, l, e, handed)
 		}
 	})
@@ -122,7 +76,7 @@ func TestChooseAnswersAreNew(t *testing.T) {
 			first, _ := sets.Choose(n, k)
 			second, _ := sets.Choose(n, k)
 			kept := slices.Clone(first)
-			overwrite(first)
+			probe.Overwrite(first)
 			third, _ := sets.Choose(n, k)
 			if !slices.Equal(second, kept) || !slices.Equal(third, kept) {
 				t.Errorf("Choose(%d, %d) hangs on earlier answers", n, k)

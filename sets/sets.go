@@ -82,13 +82,7 @@ func Choose(n, k int) ([]int, api.Errno) {
 	if !isGround(n) || k < 0 || k > n {
 		return nil, api.ErrArg
 	}
-	var chosen []int
-	for s := range 1 << n {
-		if size(s) == k {
-			chosen = append(chosen, s)
-		}
-	}
-	return chosen, api.OK
+	return Sieve(n, func(s int) bool { return Size(s) == k }), api.OK
 }
 
 // Below: P4.
@@ -96,7 +90,7 @@ func Below(a, b int) (bool, api.Errno) {
 	if !isSet(a) || !isSet(b) {
 		return false, api.ErrArg
 	}
-	if size(a) != size(b) {
+	if Size(a) != Size(b) {
 		return false, api.ErrShape
 	}
 	for a != 0 {
@@ -144,17 +138,11 @@ func Shadow(n int, l []int) ([]int, api.Errno) {
 	// Marks, since one set may come of several, and not in rising order.
 	var comes [whole + 1]bool
 	for _, s := range l {
-		for rest := s; rest != 0; rest = withoutLeast(rest) {
-			comes[s&^(1<<leastElement(rest))] = true
+		for x := range Singles(s) {
+			comes[s&^x] = true
 		}
 	}
-	var shadow []int
-	for s := range 1 << n {
-		if comes[s] {
-			shadow = append(shadow, s)
-		}
-	}
-	return shadow, api.OK
+	return Sieve(n, func(s int) bool { return comes[s] }), api.OK
 }
 
 // Blocker: P5.
@@ -162,13 +150,7 @@ func Blocker(n int, l []int) ([]int, api.Errno) {
 	if e := Family(n, l); e != api.OK {
 		return nil, e
 	}
-	var blocker []int
-	for s := range 1 << n {
-		if meetsAll(l, s) && !canSpareOne(l, s) {
-			blocker = append(blocker, s)
-		}
-	}
-	return blocker, api.OK
+	return Sieve(n, func(s int) bool { return meetsAll(l, s) && !canSpareOne(l, s) }), api.OK
 }
 
 // isGround: can there be n elements?
@@ -177,17 +159,11 @@ func isGround(n int) bool { return n >= 0 && n <= api.MaxGround }
 // isSet: is s a set of as many elements as there can be?
 func isSet(s int) bool { return s >= 0 && s <= whole }
 
-// size: how many elements s has.
-func size(s int) int { return bits.OnesCount(uint(s)) }
-
 // leastElement of s, which is not empty.
 func leastElement(s int) int { return bits.TrailingZeros(uint(s)) }
 
 // withoutLeast: s, which is not empty, without its least element.
 func withoutLeast(s int) int { return s & (s - 1) }
-
-// within: does b have all elements of a?
-func within(a, b int) bool { return a&^b == 0 }
 
 // syntaxAt: a text that can not go on at a byte.
 func syntaxAt(at int) api.Fault { return api.Fault{Code: api.ErrSyntax, At: at} }
@@ -195,7 +171,7 @@ func syntaxAt(at int) api.Fault { return api.Fault{Code: api.ErrSyntax, At: at} 
 // hasOtherWithin: does s have another set of l within it?
 func hasOtherWithin(l []int, s int) bool {
 	for _, o := range l {
-		if o != s && within(o, s) {
+		if o != s && Within(o, s) {
 			return true
 		}
 	}
@@ -205,7 +181,7 @@ func hasOtherWithin(l []int, s int) bool {
 // hasOtherAround: is s within another set of l?
 func hasOtherAround(l []int, s int) bool {
 	for _, o := range l {
-		if o != s && within(s, o) {
+		if o != s && Within(s, o) {
 			return true
 		}
 	}
@@ -225,8 +201,8 @@ func meetsAll(l []int, s int) bool {
 // canSpareOne: does s still meet all of l without one of its elements? Single
 // elements are enough to ask for: what holds a set that meets all meets all.
 func canSpareOne(l []int, s int) bool {
-	for rest := s; rest != 0; rest = withoutLeast(rest) {
-		if meetsAll(l, s&^(1<<leastElement(rest))) {
+	for x := range Singles(s) {
+		if meetsAll(l, s&^x) {
 			return true
 		}
 	}

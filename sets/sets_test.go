@@ -7,17 +7,9 @@ import (
 	"testing"
 
 	"rota/api"
+	"rota/probe"
 	"rota/sets"
 )
-
-// wide holds numbers at and beyond every edge that the package knows.
-func wide() []int {
-	return []int{
-		math.MinInt, math.MinInt + 1, math.MinInt32, -256, -64, -8, -1,
-		0, 1, 2, 3, 6, 7, 8, 9, 10, 31, 32, 63, 64, 65, 127, 128, 254, 255, 256, 257,
-		511, 512, math.MaxInt32, math.MaxUint32, math.MaxInt - 1, math.MaxInt,
-	}
-}
 
 // elements of a set, rising, asked one by one.
 func elements(s int) []int {
@@ -40,8 +32,8 @@ func text(s int) string {
 }
 
 func TestCheck(t *testing.T) {
-	for _, n := range wide() {
-		for _, s := range wide() {
+	for _, n := range probe.Wide() {
+		for _, s := range probe.Wide() {
 			want := api.ErrArg
 			if n >= 0 && n <= 8 && s >= 0 && s < []int{1, 2, 4, 8, 16, 32, 64, 128, 256}[n] {
 				want = api.OK
@@ -109,7 +101,7 @@ func TestWrite(t *testing.T) {
 			t.Errorf("Write(%d) = %q, %d", s, got, e)
 		}
 	}
-	for _, s := range wide() {
+	for _, s := range probe.Wide() {
 		if s >= 0 && s <= 255 {
 			continue
 		}
@@ -213,8 +205,8 @@ func TestChoose(t *testing.T) {
 			}
 		}
 	}
-	for _, n := range wide() {
-		for _, k := range wide() {
+	for _, n := range probe.Wide() {
+		for _, k := range probe.Wide() {
 			if n >= 0 && n <= 8 && k >= 0 && k <= n {
 				continue
 			}
@@ -269,8 +261,8 @@ func TestBelow(t *testing.T) {
 			}
 		}
 	}
-	for _, a := range wide() {
-		for _, b := range wide() {
+	for _, a := range probe.Wide() {
+		for _, b := range probe.Wide() {
 			if a >= 0 && a <= 255 && b >= 0 && b <= 255 {
 				continue
 			}

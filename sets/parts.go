@@ -1,0 +1,37 @@
+package sets
+
+import (
+	"iter"
+	"math/bits"
+)
+
+// What follows is for the layers below: it takes sets as they are, without
+// asking whether they are any.
+
+// Size: how many elements s has.
+func Size(s int) int { return bits.OnesCount(uint(s)) }
+
+// Within: does b have all elements of a?
+func Within(a, b int) bool { return a&^b == 0 }
+
+// Singles: the elements of s, rising, each as a set of its own.
+func Singles(s int) iter.Seq[int] {
+	return func(yield func(int) bool) {
+		for rest := s; rest != 0; rest = withoutLeast(rest) {
+			if !yield(rest & -rest) {
+				return
+			}
+		}
+	}
+}
+
+// Sieve: the sets of n elements that are wanted, rising.
+func Sieve(n int, wanted func(s int) bool) []int {
+	var l []int
+	for s := range 1 << n {
+		if wanted(s) {
+			l = append(l, s)
+		}
+	}
+	return l
+}

@@ -1,0 +1,34 @@
+package sets_test
+
+import (
+	"slices"
+	"testing"
+
+	"rota/sets"
+)
+
+func TestParts(t *testing.T) {
+	for s := range 256 {
+		var singles []int
+		for _, e := range elements(s) {
+			singles = append(singles, 1<<e)
+		}
+		if got := slices.Collect(sets.Singles(s)); !slices.Equal(got, singles) {
+			t.Errorf("Singles(%d) = %v", s, got)
+		}
+		if sets.Size(s) != len(singles) {
+			t.Errorf("Size(%d) = %d", s, sets.Size(s))
+		}
+		for o := range 256 {
+			if sets.Within(o, s) != (o == s || properWithin(o, s)) {
+				t.Errorf("Within(%d, %d) = %v", o, s, sets.Within(o, s))
+			}
+		}
+	}
+	for x := range sets.Singles(6) {
+		if x != 2 {
+			t.Errorf("Singles goes on to %d", x)
+		}
+		break
+	}
+}
