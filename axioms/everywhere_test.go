@@ -46,8 +46,8 @@ func holdMemory(t *testing.T, name string, n int, l []int, do func(l []int) []in
 // TestMemory is P2.
 func TestMemory(t *testing.T) {
 	given := append(probe.Known(), probe.All(4)...)
-	for _, x := range wrong() {
-		given = append(given, x.m)
+	for _, x := range probe.Wrong() {
+		given = append(given, x.M)
 	}
 	for _, m := range given {
 		for _, c := range calls() {

@@ -1,7 +1,6 @@
 package axioms_test
 
 import (
-	"math/bits"
 	"slices"
 	"testing"
 
@@ -20,14 +19,14 @@ type call struct {
 
 func calls() []call {
 	return []call{
-		{"Independents", axioms.Independents, sieve(independent)},
-		{"Circuits", axioms.Circuits, sieve(circuit)},
-		{"Flats", axioms.Flats, sieve(flat)},
-		{"Hyperplanes", axioms.Hyperplanes, sieve(hyperplane)},
+		{"Independents", axioms.Independents, sieve(probe.Independent)},
+		{"Circuits", axioms.Circuits, sieve(probe.Circuit)},
+		{"Flats", axioms.Flats, sieve(probe.Flat)},
+		{"Hyperplanes", axioms.Hyperplanes, sieve(probe.Hyperplane)},
 		{"Ranks", axioms.Ranks, func(m api.Matroid) []int {
 			var l []int
 			for s := range 1 << m.N {
-				l = append(l, rank(m, s))
+				l = append(l, probe.Rank(m, s))
 			}
 			return l
 		}},
@@ -41,61 +40,18 @@ func sieve(is func(m api.Matroid, s int) bool) func(m api.Matroid) []int {
 	}
 }
 
-func independent(m api.Matroid, s int) bool {
-	return slices.ContainsFunc(m.Bases, func(b int) bool { return b&s == s })
-}
-
-func circuit(m api.Matroid, s int) bool {
-	for o := range s {
-		if o&s == o && !independent(m, o) {
-			return false
-		}
-	}
-	return !independent(m, s)
-}
-
-func rank(m api.Matroid, s int) int {
-	most := 0
-	for _, b := range m.Bases {
-		most = max(most, bits.OnesCount(uint(b&s)))
-	}
-	return most
-}
-
-func flat(m api.Matroid, s int) bool {
-	for x := range m.N {
-		if s>>x&1 == 0 && rank(m, s) >= rank(m, s+1<<x) {
-			return false
-		}
-	}
-	return true
-}
-
-func hyperplane(m api.Matroid, s int) bool {
-	return flat(m, s) && rank(m, s)+1 == rank(m, 1<<m.N-1)
-}
-
 func closure(m api.Matroid, s int) int {
 	closed := s
 	for x := range m.N {
-		if rank(m, s|1<<x) == rank(m, s) {
+		if probe.Rank(m, s|1<<x) == probe.Rank(m, s) {
 			closed |= 1 << x
 		}
 	}
 	return closed
 }
 
-// matroids: all of few elements, and known ones of more.
-func matroids() []api.Matroid {
-	var l []api.Matroid
-	for n := range 6 {
-		l = append(l, probe.All(n)...)
-	}
-	return append(l, probe.Known()...)
-}
-
 func TestFamilies(t *testing.T) {
-	for _, m := range matroids() {
+	for _, m := range probe.Matroids() {
 		for _, c := range calls() {
 			if got, e := c.tell(m); e != api.OK || !slices.Equal(got, c.want(m)) {
 				t.Errorf("%s(%v) = %v, %d, want %v", c.name, m, got, e, c.want(m))
@@ -105,7 +61,7 @@ func TestFamilies(t *testing.T) {
 }
 
 func TestClosure(t *testing.T) {
-	for _, m := range matroids() {
+	for _, m := range probe.Matroids() {
 		for s := range 1 << m.N {
 			if got, e := axioms.Closure(m, s); e != api.OK || got != closure(m, s) {
 				t.Errorf("Closure(%v, %d) = %d, %d, want %d", m, s, got, e, closure(m, s))
@@ -137,20 +93,20 @@ func TestFamiliesEdges(t *testing.T) {
 }
 
 func TestFamiliesRefuse(t *testing.T) {
-	for _, x := range wrong() {
+	for _, x := range probe.Wrong() {
 		for _, c := range calls() {
-			if got, e := c.tell(x.m); e != x.want || len(got) != 0 {
-				t.Errorf("%s(%d, %.8v) = %v, %d, want %d", c.name, x.m.N, x.m.Bases, got, e, x.want)
+			if got, e := c.tell(x.M); e != x.Want || len(got) != 0 {
+				t.Errorf("%s(%d, %.8v) = %v, %d, want %d", c.name, x.M.N, x.M.Bases, got, e, x.Want)
 			}
 		}
 		// What is said of a matroid is ahead of what is said of a set.
 		for _, s := range []int{0, 1, -1, 1 << 20} {
-			if got, e := axioms.Closure(x.m, s); e != x.want || got != 0 {
-				t.Errorf("Closure(%d, %.8v; %d) = %d, %d, want %d", x.m.N, x.m.Bases, s, got, e, x.want)
+			if got, e := axioms.Closure(x.M, s); e != x.Want || got != 0 {
+				t.Errorf("Closure(%d, %.8v; %d) = %d, %d, want %d", x.M.N, x.M.Bases, s, got, e, x.Want)
 			}
 		}
 	}
-	for _, m := range matroids() {
+	for _, m := range probe.Matroids() {
 		for _, s := range probe.Wide() {
 			if s >= 0 && s < 1<<m.N {
 				continue

@@ -26,7 +26,7 @@ func OfCircuits(n int, l []int) (api.Matroid, api.Errno) {
 	if e != api.OK {
 		return api.Matroid{}, e
 	}
-	return madeOf(api.Matroid{N: n, Bases: complements(n, taken)}, Circuits, l)
+	return madeOf(api.Matroid{N: n, Bases: sets.Complements(n, taken)}, Circuits, l)
 }
 
 // OfRanks: P8.
@@ -59,17 +59,8 @@ func OfHyperplanes(n int, l []int) (api.Matroid, api.Errno) {
 // leastOutside: the least sets that lie in no set of the family l. Such a set
 // has an element of what each of them leaves.
 func leastOutside(n int, l []int) []int {
-	least, _ := sets.Blocker(n, complements(n, l))
+	least, _ := sets.Blocker(n, sets.Complements(n, l))
 	return least
-}
-
-// complements of the sets of l, rising as l does.
-func complements(n int, l []int) []int {
-	others := make([]int, 0, len(l))
-	for _, s := range slices.Backward(l) {
-		others = append(others, 1<<n-1-s)
-	}
-	return others
 }
 
 // madeOf: m, if it is a matroid of which l is told.

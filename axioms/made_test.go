@@ -21,10 +21,10 @@ type maker struct {
 
 func makers() []maker {
 	return []maker{
-		{"OfIndependents", axioms.OfIndependents, sieve(independent), rightIndependents},
-		{"OfCircuits", axioms.OfCircuits, sieve(circuit), rightCircuits},
-		{"OfFlats", axioms.OfFlats, sieve(flat), rightFlats},
-		{"OfHyperplanes", axioms.OfHyperplanes, sieve(hyperplane), rightHyperplanes},
+		{"OfIndependents", axioms.OfIndependents, sieve(probe.Independent), rightIndependents},
+		{"OfCircuits", axioms.OfCircuits, sieve(probe.Circuit), rightCircuits},
+		{"OfFlats", axioms.OfFlats, sieve(probe.Flat), rightFlats},
+		{"OfHyperplanes", axioms.OfHyperplanes, sieve(probe.Hyperplane), rightHyperplanes},
 	}
 }
 
@@ -42,13 +42,13 @@ func incomparable(l []int) bool {
 
 func rightIndependents(_ int, l []int) bool {
 	downward := every(l, func(s int) bool {
-		return every(elements(s), func(x int) bool { return slices.Contains(l, s-1<<x) })
+		return every(probe.Elements(s), func(x int) bool { return slices.Contains(l, s-1<<x) })
 	})
 	grows := func(a, b int) bool {
-		return slices.ContainsFunc(elements(b&^a), func(x int) bool { return slices.Contains(l, a+1<<x) })
+		return slices.ContainsFunc(probe.Elements(b&^a), func(x int) bool { return slices.Contains(l, a+1<<x) })
 	}
 	return len(l) > 0 && downward && every(l, func(a int) bool {
-		return every(l, func(b int) bool { return len(elements(a)) >= len(elements(b)) || grows(a, b) })
+		return every(l, func(b int) bool { return len(probe.Elements(a)) >= len(probe.Elements(b)) || grows(a, b) })
 	})
 }
 
@@ -58,7 +58,7 @@ func rightCircuits(_ int, l []int) bool {
 	}
 	return !slices.Contains(l, 0) && incomparable(l) && every(l, func(a int) bool {
 		return every(l, func(b int) bool {
-			return a == b || every(elements(a&b), func(x int) bool { return eliminate(a, b, x) })
+			return a == b || every(probe.Elements(a&b), func(x int) bool { return eliminate(a, b, x) })
 		})
 	})
 }
@@ -76,7 +76,7 @@ func rightFlats(n int, l []int) bool {
 				above = append(above, b)
 			}
 		}
-		return every(elements(whole&^a), func(x int) bool {
+		return every(probe.Elements(whole&^a), func(x int) bool {
 			holding := slices.DeleteFunc(slices.Clone(above), func(b int) bool { return b>>x&1 == 0 })
 			return len(holding) == 1
 		})
@@ -90,7 +90,7 @@ func rightHyperplanes(n int, l []int) bool {
 	}
 	return !slices.Contains(l, whole) && incomparable(l) && every(l, func(a int) bool {
 		return every(l, func(b int) bool {
-			return a == b || every(elements(whole&^(a|b)), func(x int) bool { return spans(a, b, x) })
+			return a == b || every(probe.Elements(whole&^(a|b)), func(x int) bool { return spans(a, b, x) })
 		})
 	})
 }
@@ -114,7 +114,7 @@ func TestMadeSmall(t *testing.T) {
 	for _, k := range makers() {
 		for n := range 4 {
 			for f := range 1 << (1 << n) {
-				holdMade(t, k, n, elements(f))
+				holdMade(t, k, n, probe.Elements(f))
 			}
 		}
 	}
@@ -136,10 +136,10 @@ func TestMadeOfFour(t *testing.T) {
 			t.Errorf("%s: %d families of 68 matroids", k.name, len(known))
 		}
 		for f := range 1 << 16 {
-			m, e := k.make(4, elements(f))
+			m, e := k.make(4, probe.Elements(f))
 			want, is := known[f]
 			if !is && e != api.ErrShape || is && e != api.OK || m.N != want.N || !slices.Equal(m.Bases, want.Bases) {
-				t.Errorf("%s(4, %v) = %v, %d, want %v", k.name, elements(f), m, e, want)
+				t.Errorf("%s(4, %v) = %v, %d, want %v", k.name, probe.Elements(f), m, e, want)
 			}
 		}
 	}
@@ -147,7 +147,7 @@ func TestMadeOfFour(t *testing.T) {
 
 // TestMadeTwice is what the document calls "each family tells all".
 func TestMadeTwice(t *testing.T) {
-	for _, m := range matroids() {
+	for _, m := range probe.Matroids() {
 		for _, k := range makers() {
 			if got, e := k.make(m.N, k.tell(m)); e != api.OK || got.N != m.N || !slices.Equal(got.Bases, m.Bases) {
 				t.Errorf("%s(%d, %v) = %v, %d, want %v", k.name, m.N, k.tell(m), got, e, m)

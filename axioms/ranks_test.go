@@ -15,7 +15,7 @@ import (
 // or more.
 func rightRanks(l []int) bool {
 	for a := range l {
-		if l[a] < 0 || l[a] > len(elements(a)) {
+		if l[a] < 0 || l[a] > len(probe.Elements(a)) {
 			return false
 		}
 		for b := range l {
@@ -38,7 +38,7 @@ func holdRanks(t *testing.T, n int, l []int) {
 	}
 	told := make([]int, 1<<n)
 	for s := range told {
-		told[s] = rank(m, s)
+		told[s] = probe.Rank(m, s)
 	}
 	if e != api.OK || m.N != n || wantCheck(m.Bases) != api.OK || !slices.Equal(told, l) {
 		t.Errorf("OfRanks(%d, %v) = %v, %d", n, l, m, e)
@@ -64,7 +64,7 @@ func TestOfRanksSmall(t *testing.T) {
 }
 
 func TestOfRanksTwice(t *testing.T) {
-	for _, m := range matroids() {
+	for _, m := range probe.Matroids() {
 		l, _ := axioms.Ranks(m)
 		if got, e := axioms.OfRanks(m.N, l); e != api.OK || got.N != m.N || !slices.Equal(got.Bases, m.Bases) {
 			t.Errorf("OfRanks(%d, %v) = %v, %d, want %v", m.N, l, got, e, m)
@@ -73,7 +73,7 @@ func TestOfRanksTwice(t *testing.T) {
 }
 
 func TestOfRanksNearlyRight(t *testing.T) {
-	for _, m := range matroids() {
+	for _, m := range probe.Matroids() {
 		l, _ := axioms.Ranks(m)
 		for s := 0; s < len(l); s += m.N*m.N/8 + 1 {
 			for _, by := range []int{-1, 1, math.MaxInt - 3, math.MinInt} {

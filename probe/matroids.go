@@ -1,6 +1,7 @@
 package probe
 
 import (
+	"math"
 	"math/bits"
 	"slices"
 
@@ -116,4 +117,49 @@ func Known() []api.Matroid {
 		}
 	}
 	return known
+}
+
+// Matroids: all of few elements, and known ones of more.
+func Matroids() []api.Matroid {
+	var l []api.Matroid
+	for n := range 6 {
+		l = append(l, All(n)...)
+	}
+	return append(l, Known()...)
+}
+
+// Refused is no matroid, and how it is refused.
+type Refused struct {
+	M    api.Matroid
+	Want api.Errno
+}
+
+// Wrong holds what is no matroid, beside what P6 says of it.
+func Wrong() []Refused {
+	return []Refused{
+		{api.Matroid{N: 0}, api.ErrArg},
+		{api.Matroid{N: 3, Bases: []int{}}, api.ErrArg},
+		{api.Matroid{N: -1, Bases: []int{0}}, api.ErrArg},
+		{api.Matroid{N: 9, Bases: []int{0}}, api.ErrArg},
+		{api.Matroid{N: math.MinInt, Bases: []int{0}}, api.ErrArg},
+		{api.Matroid{N: math.MaxInt, Bases: []int{1}}, api.ErrArg},
+		{api.Matroid{N: 64, Bases: []int{1}}, api.ErrArg},
+		{api.Matroid{N: 0, Bases: []int{1}}, api.ErrArg},
+		{api.Matroid{N: 2, Bases: []int{4}}, api.ErrArg},
+		{api.Matroid{N: 2, Bases: []int{-1}}, api.ErrArg},
+		{api.Matroid{N: 2, Bases: []int{2, 1}}, api.ErrArg},
+		{api.Matroid{N: 2, Bases: []int{1, 1}}, api.ErrArg},
+		{api.Matroid{N: 2, Bases: []int{0, 1}}, api.ErrArg},
+		{api.Matroid{N: 3, Bases: []int{1, 2, 7}}, api.ErrArg},
+		{api.Matroid{N: 8, Bases: []int{255, 256}}, api.ErrArg},
+		{api.Matroid{N: 8, Bases: []int{1, math.MaxInt}}, api.ErrArg},
+		{api.Matroid{N: 8, Bases: make([]int, 1<<16)}, api.ErrArg},
+		// They can not be exchanged, but what is told first holds.
+		{api.Matroid{N: 4, Bases: []int{3, 12, 14}}, api.ErrArg},
+		{api.Matroid{N: 4, Bases: []int{12, 3}}, api.ErrArg},
+		{api.Matroid{N: 4, Bases: []int{3, 12}}, api.ErrShape},
+		{api.Matroid{N: 4, Bases: []int{5, 10}}, api.ErrShape},
+		{api.Matroid{N: 8, Bases: []int{15, 240}}, api.ErrShape},
+		{api.Matroid{N: 6, Bases: []int{7, 11, 13, 14, 56}}, api.ErrShape},
+	}
 }

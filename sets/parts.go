@@ -3,6 +3,7 @@ package sets
 import (
 	"iter"
 	"math/bits"
+	"slices"
 )
 
 // What follows is for the layers below: it takes sets as they are, without
@@ -34,4 +35,13 @@ func Sieve(n int, wanted func(s int) bool) []int {
 		}
 	}
 	return l
+}
+
+// Complements: what each set of a family leaves of n elements, rising.
+func Complements(n int, l []int) []int {
+	others := make([]int, 0, len(l))
+	for _, s := range slices.Backward(l) {
+		others = append(others, 1<<n-1-s)
+	}
+	return others
 }

@@ -32,3 +32,12 @@ func TestParts(t *testing.T) {
 		break
 	}
 }
+
+func TestComplements(t *testing.T) {
+	families(func(n int, l []int) {
+		want := sets.Sieve(n, func(s int) bool { return slices.Contains(l, 1<<n-1-s) })
+		if got := sets.Complements(n, l); !slices.Equal(got, want) {
+			t.Errorf("Complements(%d, %v) = %v, want %v", n, l, got, want)
+		}
+	})
+}

@@ -1,0 +1,85 @@
+package minors
+
+import (
+	"slices"
+
+	"rota/api"
+	"rota/axioms"
+	"rota/sets"
+)
+
+// wholeSet: the set of all of n elements.
+func wholeSet(n int) int { return 1<<n - 1 }
+
+// leastOf s, which is not empty: its least element, as a set.
+func leastOf(s int) int { return s & -s }
+
+// isIndependent: is s, by the ranks of all sets?
+func isIndependent(r []int, s int) bool { return r[s] == sets.Size(s) }
+
+// ofIndependents: the matroid of n elements with these independent sets. They
+// are known to be those of one, so its bases are the largest of them.
+func ofIndependents(n int, independent func(s int) bool) api.Matroid {
+	rank := 0
+	for s := range 1 << n {
+		if independent(s) {
+			rank = max(rank, sets.Size(s))
+		}
+	}
+	bases := sets.Sieve(n, func(s int) bool { return sets.Size(s) == rank && independent(s) })
+	return api.Matroid{N: n, Bases: bases}
+}
+
+// without s: the matroid of the other elements, in which the rank of a set is
+// by how much it raises that of the base.
+func without(m api.Matroid, s, base int) (api.Matroid, api.Errno) {
+	r, e := axioms.Ranks(m)
+	if e != api.OK {
+		return api.Matroid{}, e
+	}
+	if e := sets.Check(m.N, s); e != api.OK {
+		return api.Matroid{}, e
+	}
+	kept := wholeSet(m.N) &^ s
+	return ofIndependents(sets.Size(kept), func(t int) bool {
+		return r[oldNames(t, kept)|base]-r[base] == sets.Size(t)
+	}), api.OK
+}
+
+// oldNames: the set that is t once the kept elements are numbered anew.
+func oldNames(t, kept int) int {
+	old := 0
+	for x := range sets.Singles(kept) {
+		if t&1 == 1 {
+			old |= x
+		}
+		t >>= 1
+	}
+	return old
+}
+
+// classes by the ranks of all sets. Two loops, or two parallel elements, have
+// together the rank that each of them has; no other two have.
+func classes(n int, r []int) []int {
+	return partition(n, func(x, y int) bool { return r[x|y] == r[x] && r[x|y] == r[y] })
+}
+
+// partition of n elements into sets, rising: which two are together must make
+// one. Whether an element is together with itself is not asked.
+func partition(n int, together func(x, y int) bool) []int {
+	var parts []int
+	rest := wholeSet(n)
+	for rest != 0 {
+		x := leastOf(rest)
+		part := x
+		for y := range sets.Singles(rest &^ x) {
+			if together(x, y) {
+				part |= y
+			}
+		}
+		parts = append(parts, part)
+		rest &^= part
+	}
+	slices.Sort(parts)
+	return parts
+}
