@@ -60,7 +60,7 @@ func TestSimple(t *testing.T) {
 		if e != api.OK || !hasRanks(got, kept, func(old int) int { return probe.Rank(m, old) }) {
 			t.Errorf("Simple(%v) = %v, %d", m, got, e)
 		}
-		if again, e := minors.Simple(got); e != api.OK || !equal(again, got) {
+		if again, e := minors.Simple(got); e != api.OK || !probe.Equal(again, got) {
 			t.Errorf("Simple(Simple(%v)) = %v, %d, want %v", m, again, e, got)
 		}
 	}
@@ -91,18 +91,18 @@ func TestClassesEdges(t *testing.T) {
 		classes, components []int
 		simple              api.Matroid
 	}{
-		{uniform(0, 0), nil, nil, uniform(0, 0)},
-		{uniform(0, 1), []int{1}, []int{1}, uniform(0, 0)},
-		{uniform(0, 8), []int{255}, []int{1, 2, 4, 8, 16, 32, 64, 128}, uniform(0, 0)},
-		{uniform(1, 8), []int{255}, []int{255}, uniform(1, 1)},
-		{uniform(7, 8), []int{1, 2, 4, 8, 16, 32, 64, 128}, []int{255}, uniform(7, 8)},
-		{uniform(8, 8), []int{1, 2, 4, 8, 16, 32, 64, 128}, []int{1, 2, 4, 8, 16, 32, 64, 128}, uniform(8, 8)},
-		{api.Matroid{N: 3, Bases: []int{1, 4}}, []int{2, 5}, []int{2, 5}, uniform(1, 1)},
-		{api.Matroid{N: 3, Bases: []int{3, 6}}, []int{2, 5}, []int{2, 5}, uniform(2, 2)},
+		{probe.Uniform(0, 0), nil, nil, probe.Uniform(0, 0)},
+		{probe.Uniform(0, 1), []int{1}, []int{1}, probe.Uniform(0, 0)},
+		{probe.Uniform(0, 8), []int{255}, []int{1, 2, 4, 8, 16, 32, 64, 128}, probe.Uniform(0, 0)},
+		{probe.Uniform(1, 8), []int{255}, []int{255}, probe.Uniform(1, 1)},
+		{probe.Uniform(7, 8), []int{1, 2, 4, 8, 16, 32, 64, 128}, []int{255}, probe.Uniform(7, 8)},
+		{probe.Uniform(8, 8), []int{1, 2, 4, 8, 16, 32, 64, 128}, []int{1, 2, 4, 8, 16, 32, 64, 128}, probe.Uniform(8, 8)},
+		{api.Matroid{N: 3, Bases: []int{1, 4}}, []int{2, 5}, []int{2, 5}, probe.Uniform(1, 1)},
+		{api.Matroid{N: 3, Bases: []int{3, 6}}, []int{2, 5}, []int{2, 5}, probe.Uniform(2, 2)},
 		// 1 and 4 are loops, 0 and 5 are parallel, as are 2 and 3.
-		{api.Matroid{N: 6, Bases: []int{5, 9, 36, 40}}, []int{12, 18, 33}, []int{2, 12, 16, 33}, uniform(2, 2)},
+		{api.Matroid{N: 6, Bases: []int{5, 9, 36, 40}}, []int{12, 18, 33}, []int{2, 12, 16, 33}, probe.Uniform(2, 2)},
 		// Three on a line, one of them twice.
-		{api.Matroid{N: 4, Bases: []int{3, 5, 6, 10, 12}}, []int{2, 4, 9}, []int{15}, uniform(2, 3)},
+		{api.Matroid{N: 4, Bases: []int{3, 5, 6, 10, 12}}, []int{2, 4, 9}, []int{15}, probe.Uniform(2, 3)},
 	} {
 		if got, e := minors.Classes(x.m); e != api.OK || !slices.Equal(got, x.classes) {
 			t.Errorf("Classes(%v) = %v, %d, want %v", x.m, got, e, x.classes)
@@ -110,7 +110,7 @@ func TestClassesEdges(t *testing.T) {
 		if got, e := minors.Components(x.m); e != api.OK || !slices.Equal(got, x.components) {
 			t.Errorf("Components(%v) = %v, %d, want %v", x.m, got, e, x.components)
 		}
-		if got, e := minors.Simple(x.m); e != api.OK || !equal(got, x.simple) {
+		if got, e := minors.Simple(x.m); e != api.OK || !probe.Equal(got, x.simple) {
 			t.Errorf("Simple(%v) = %v, %d, want %v", x.m, got, e, x.simple)
 		}
 	}

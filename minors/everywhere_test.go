@@ -44,12 +44,12 @@ func ofList(do func(m api.Matroid) ([]int, api.Errno)) func(m api.Matroid, _ int
 
 // calls: all of them; Sum on either side of another matroid, and with itself.
 func calls() []call {
-	sumWith := func(m api.Matroid) (api.Matroid, api.Errno) { return minors.Sum(m, uniform(1, 2)) }
-	sumBehind := func(m api.Matroid) (api.Matroid, api.Errno) { return minors.Sum(uniform(1, 2), m) }
+	sumWith := func(m api.Matroid) (api.Matroid, api.Errno) { return minors.Sum(m, probe.Uniform(1, 2)) }
+	sumBehind := func(m api.Matroid) (api.Matroid, api.Errno) { return minors.Sum(probe.Uniform(1, 2), m) }
 	sumTwice := func(m api.Matroid) (api.Matroid, api.Errno) { return minors.Sum(m, m) }
-	sumNothing := func(m api.Matroid) (api.Matroid, api.Errno) { return minors.Sum(m, uniform(0, 0)) }
-	sumBehindNothing := func(m api.Matroid) (api.Matroid, api.Errno) { return minors.Sum(uniform(0, 0), m) }
-	sumLarge := func(m api.Matroid) (api.Matroid, api.Errno) { return minors.Sum(uniform(8, 8), m) }
+	sumNothing := func(m api.Matroid) (api.Matroid, api.Errno) { return minors.Sum(m, probe.Uniform(0, 0)) }
+	sumBehindNothing := func(m api.Matroid) (api.Matroid, api.Errno) { return minors.Sum(probe.Uniform(0, 0), m) }
+	sumLarge := func(m api.Matroid) (api.Matroid, api.Errno) { return minors.Sum(probe.Uniform(8, 8), m) }
 	return append(callsOfSets(),
 		call{"Dual", ofMatroid(minors.Dual)},
 		call{"Sum, first", ofMatroid(sumWith)},

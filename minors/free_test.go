@@ -18,11 +18,11 @@ func TestFree(t *testing.T) {
 			}
 			continue
 		}
-		want := ofIndependents(m.N+1, func(s int) bool {
+		want := probe.WithIndependents(m.N+1, func(s int) bool {
 			beside := s &^ (1 << m.N)
 			return probe.Independent(m, beside) && (s == beside || !slices.Contains(m.Bases, beside))
 		})
-		if e != api.OK || !equal(got, want) {
+		if e != api.OK || !probe.Equal(got, want) {
 			t.Errorf("Free(%v) = %v, %d, want %v", m, got, e, want)
 		}
 	}
@@ -40,7 +40,7 @@ func TestFreeAndTruncate(t *testing.T) {
 		sure(t, freed, e)
 		contracted, e := minors.Contract(freed, 1<<m.N)
 		sure(t, contracted, e)
-		if got, e := minors.Truncate(m, rank-1); e != api.OK || !equal(got, contracted) {
+		if got, e := minors.Truncate(m, rank-1); e != api.OK || !probe.Equal(got, contracted) {
 			t.Errorf("Truncate(%v, %d) = %v, %d, want %v", m, rank-1, got, e, contracted)
 		}
 	}
@@ -60,7 +60,7 @@ func TestRelax(t *testing.T) {
 			relaxed++
 			bases := append(slices.Clone(m.Bases), s)
 			slices.Sort(bases)
-			if e != api.OK || !equal(got, api.Matroid{N: m.N, Bases: bases}) || !probe.Exchange(got.Bases) {
+			if e != api.OK || !probe.Equal(got, api.Matroid{N: m.N, Bases: bases}) || !probe.Exchange(got.Bases) {
 				t.Errorf("Relax(%v, %d) = %v, %d, want %v", m, s, got, e, bases)
 			}
 		}
@@ -73,15 +73,15 @@ func TestRelax(t *testing.T) {
 func TestFreeEdges(t *testing.T) {
 	for _, x := range []struct{ m, want api.Matroid }{
 		// The empty set is the basis, so what comes is a loop.
-		{uniform(0, 0), uniform(0, 1)},
-		{uniform(0, 7), uniform(0, 8)},
-		{uniform(1, 1), uniform(1, 2)},
-		{uniform(7, 7), uniform(7, 8)},
-		{uniform(2, 4), uniform(2, 5)},
+		{probe.Uniform(0, 0), probe.Uniform(0, 1)},
+		{probe.Uniform(0, 7), probe.Uniform(0, 8)},
+		{probe.Uniform(1, 1), probe.Uniform(1, 2)},
+		{probe.Uniform(7, 7), probe.Uniform(7, 8)},
+		{probe.Uniform(2, 4), probe.Uniform(2, 5)},
 		{api.Matroid{N: 3, Bases: []int{1, 4}}, api.Matroid{N: 4, Bases: []int{1, 4, 8}}},
 		{api.Matroid{N: 3, Bases: []int{3, 6}}, api.Matroid{N: 4, Bases: []int{3, 6, 9, 10, 12}}},
 	} {
-		if got, e := minors.Free(x.m); e != api.OK || !equal(got, x.want) {
+		if got, e := minors.Free(x.m); e != api.OK || !probe.Equal(got, x.want) {
 			t.Errorf("Free(%v) = %v, %d, want %v", x.m, got, e, x.want)
 		}
 	}
@@ -95,27 +95,27 @@ func TestRelaxEdges(t *testing.T) {
 		s    int
 		want api.Matroid
 	}{
-		{uniform(0, 0), 0, refused},
-		{uniform(0, 8), 1, refused},
-		{uniform(8, 8), 255, refused},
-		{uniform(2, 4), 7, refused},
+		{probe.Uniform(0, 0), 0, refused},
+		{probe.Uniform(0, 8), 1, refused},
+		{probe.Uniform(8, 8), 255, refused},
+		{probe.Uniform(2, 4), 7, refused},
 		// One loop is a circuit, and a hyperplane; two are no circuit.
-		{oneLoop, 2, uniform(1, 2)},
+		{oneLoop, 2, probe.Uniform(1, 2)},
 		{oneLoop, 0, refused},
 		{oneLoop, 1, refused},
 		{api.Matroid{N: 3, Bases: []int{1}}, 2, refused},
 		{api.Matroid{N: 3, Bases: []int{1}}, 6, refused},
 		// Two that are parallel are both, unless there is a loop.
-		{api.Matroid{N: 3, Bases: []int{3, 6}}, 5, uniform(2, 3)},
+		{api.Matroid{N: 3, Bases: []int{3, 6}}, 5, probe.Uniform(2, 3)},
 		{api.Matroid{N: 4, Bases: []int{3, 6}}, 5, refused},
 		{api.Matroid{N: 8, Bases: probe.Fano().Bases}, 7, refused},
 	} {
 		got, e := minors.Relax(x.m, x.s)
 		want := api.OK
-		if equal(x.want, refused) {
+		if probe.Equal(x.want, refused) {
 			want = api.ErrShape
 		}
-		if e != want || !equal(got, x.want) {
+		if e != want || !probe.Equal(got, x.want) {
 			t.Errorf("Relax(%v, %d) = %v, %d, want %v, %d", x.m, x.s, got, e, x.want, want)
 		}
 	}

@@ -11,27 +11,6 @@ import (
 	"rota/sets"
 )
 
-// uniform: all sets of as many of n elements.
-func uniform(rank, n int) api.Matroid {
-	bases, _ := sets.Choose(n, rank)
-	return api.Matroid{N: n, Bases: bases}
-}
-
-// ofIndependents: the matroid whose bases are the independent sets that lie in
-// no other one.
-func ofIndependents(n int, independent func(s int) bool) api.Matroid {
-	l := sets.Sieve(n, independent)
-	var bases []int
-	for _, s := range l {
-		if !slices.ContainsFunc(l, func(o int) bool { return o != s && o&s == s }) {
-			bases = append(bases, s)
-		}
-	}
-	return api.Matroid{N: n, Bases: bases}
-}
-
-func equal(a, b api.Matroid) bool { return a.N == b.N && slices.Equal(a.Bases, b.Bases) }
-
 // sure: the answer of a call that must not be refused.
 func sure(t *testing.T, m api.Matroid, e api.Errno) api.Matroid {
 	t.Helper()
@@ -46,10 +25,10 @@ func TestDual(t *testing.T) {
 		bases := sets.Sieve(m.N, func(s int) bool { return slices.Contains(m.Bases, 1<<m.N-1-s) })
 		want := api.Matroid{N: m.N, Bases: bases}
 		got, e := minors.Dual(m)
-		if e != api.OK || !equal(got, want) {
+		if e != api.OK || !probe.Equal(got, want) {
 			t.Errorf("Dual(%v) = %v, %d, want %v", m, got, e, want)
 		}
-		if twice, e := minors.Dual(got); e != api.OK || !equal(twice, m) {
+		if twice, e := minors.Dual(got); e != api.OK || !probe.Equal(twice, m) {
 			t.Errorf("Dual(Dual(%v)) = %v, %d", m, twice, e)
 		}
 	}
@@ -103,7 +82,7 @@ func TestTurned(t *testing.T) {
 		for s := range 1 << m.N {
 			deleted, e := minors.Delete(dual(m), s)
 			sure(t, deleted, e)
-			if got, e := minors.Contract(m, s); e != api.OK || !equal(got, dual(deleted)) {
+			if got, e := minors.Contract(m, s); e != api.OK || !probe.Equal(got, dual(deleted)) {
 				t.Errorf("Contract(%v, %d) = %v, %d, want %v", m, s, got, e, dual(deleted))
 			}
 		}
@@ -112,7 +91,7 @@ func TestTurned(t *testing.T) {
 
 func holdSum(t *testing.T, a, b api.Matroid) {
 	t.Helper()
-	want := ofIndependents(a.N+b.N, func(s int) bool {
+	want := probe.WithIndependents(a.N+b.N, func(s int) bool {
 		ofA, ofB := 0, 0
 		for _, x := range probe.Elements(s) {
 			if x < a.N {
@@ -123,7 +102,7 @@ func holdSum(t *testing.T, a, b api.Matroid) {
 		}
 		return probe.Independent(a, ofA) && probe.Independent(b, ofB)
 	})
-	if got, e := minors.Sum(a, b); e != api.OK || !equal(got, want) {
+	if got, e := minors.Sum(a, b); e != api.OK || !probe.Equal(got, want) {
 		t.Errorf("Sum(%v, %v) = %v, %d, want %v", a, b, got, e, want)
 	}
 }
@@ -152,14 +131,14 @@ func TestSum(t *testing.T) {
 			}
 		}
 	}
-	holdSum(t, uniform(2, 4), uniform(1, 4))
-	holdSum(t, uniform(0, 4), uniform(4, 4))
+	holdSum(t, probe.Uniform(2, 4), probe.Uniform(1, 4))
+	holdSum(t, probe.Uniform(0, 4), probe.Uniform(4, 4))
 }
 
 func TestSumLarge(t *testing.T) {
 	for n := range 9 {
 		for k := range 9 {
-			got, e := minors.Sum(uniform(n/2, n), uniform(k, k))
+			got, e := minors.Sum(probe.Uniform(n/2, n), probe.Uniform(k, k))
 			if n+k <= 8 && (e != api.OK || got.N != n+k) {
 				t.Errorf("Sum of %d and %d elements is %v, %d", n, k, got, e)
 			}
@@ -174,10 +153,10 @@ func TestTruncate(t *testing.T) {
 	for _, m := range probe.Matroids() {
 		whole := probe.Rank(m, 1<<m.N-1)
 		for rank := range whole + 1 {
-			want := ofIndependents(m.N, func(s int) bool {
+			want := probe.WithIndependents(m.N, func(s int) bool {
 				return probe.Independent(m, s) && len(probe.Elements(s)) <= rank
 			})
-			if got, e := minors.Truncate(m, rank); e != api.OK || !equal(got, want) {
+			if got, e := minors.Truncate(m, rank); e != api.OK || !probe.Equal(got, want) {
 				t.Errorf("Truncate(%v, %d) = %v, %d, want %v", m, rank, got, e, want)
 			}
 		}
@@ -194,7 +173,7 @@ func TestTruncate(t *testing.T) {
 
 // TestMinorsEdges holds answers that were found by hand.
 func TestMinorsEdges(t *testing.T) {
-	nothing, loops, whole := uniform(0, 0), uniform(0, 8), uniform(8, 8)
+	nothing, loops, whole := probe.Uniform(0, 0), probe.Uniform(0, 8), probe.Uniform(8, 8)
 	dual := func(m api.Matroid, _ int) (api.Matroid, api.Errno) { return minors.Dual(m) }
 	for i, x := range []struct {
 		do   func(m api.Matroid, s int) (api.Matroid, api.Errno)
@@ -205,51 +184,51 @@ func TestMinorsEdges(t *testing.T) {
 		{dual, nothing, 0, nothing},
 		{dual, loops, 0, whole},
 		{dual, whole, 0, loops},
-		{dual, uniform(2, 4), 0, uniform(2, 4)},
+		{dual, probe.Uniform(2, 4), 0, probe.Uniform(2, 4)},
 		{dual, api.Matroid{N: 3, Bases: []int{1, 4}}, 0, api.Matroid{N: 3, Bases: []int{3, 6}}},
 		{minors.Delete, nothing, 0, nothing},
 		{minors.Delete, whole, 0, whole},
 		{minors.Delete, whole, 255, nothing},
-		{minors.Delete, whole, 254, uniform(1, 1)},
-		{minors.Delete, loops, 127, uniform(0, 1)},
+		{minors.Delete, whole, 254, probe.Uniform(1, 1)},
+		{minors.Delete, loops, 127, probe.Uniform(0, 1)},
 		// The rank goes down, as the element is in every basis.
 		{minors.Delete, api.Matroid{N: 3, Bases: []int{3, 6}}, 2, api.Matroid{N: 2, Bases: []int{1, 2}}},
-		{minors.Delete, uniform(2, 4), 8, uniform(2, 3)},
-		{minors.Delete, uniform(2, 4), 7, uniform(1, 1)},
+		{minors.Delete, probe.Uniform(2, 4), 8, probe.Uniform(2, 3)},
+		{minors.Delete, probe.Uniform(2, 4), 7, probe.Uniform(1, 1)},
 		{minors.Contract, nothing, 0, nothing},
 		{minors.Contract, whole, 0, whole},
 		{minors.Contract, whole, 255, nothing},
-		{minors.Contract, loops, 1, uniform(0, 7)},
-		{minors.Contract, uniform(2, 4), 8, uniform(1, 3)},
-		{minors.Contract, uniform(2, 4), 7, uniform(0, 1)},
+		{minors.Contract, loops, 1, probe.Uniform(0, 7)},
+		{minors.Contract, probe.Uniform(2, 4), 8, probe.Uniform(1, 3)},
+		{minors.Contract, probe.Uniform(2, 4), 7, probe.Uniform(0, 1)},
 		// A parallel element becomes a loop.
 		{minors.Contract, api.Matroid{N: 3, Bases: []int{3, 6}}, 1, api.Matroid{N: 2, Bases: []int{1}}},
 		{minors.Truncate, nothing, 0, nothing},
 		{minors.Truncate, whole, 0, loops},
-		{minors.Truncate, whole, 3, uniform(3, 8)},
+		{minors.Truncate, whole, 3, probe.Uniform(3, 8)},
 		{minors.Truncate, whole, 8, whole},
 		{minors.Truncate, loops, 0, loops},
-		{minors.Truncate, api.Matroid{N: 3, Bases: []int{3, 6}}, 1, uniform(1, 3)},
+		{minors.Truncate, api.Matroid{N: 3, Bases: []int{3, 6}}, 1, probe.Uniform(1, 3)},
 	} {
-		if got, e := x.do(x.m, x.s); e != api.OK || !equal(got, x.want) {
+		if got, e := x.do(x.m, x.s); e != api.OK || !probe.Equal(got, x.want) {
 			t.Errorf("%d: of %v and %d comes %v, %d, want %v", i, x.m, x.s, got, e, x.want)
 		}
 	}
 }
 
 func TestSumEdges(t *testing.T) {
-	nothing := uniform(0, 0)
+	nothing := probe.Uniform(0, 0)
 	for _, x := range []struct{ a, b, want api.Matroid }{
 		{nothing, nothing, nothing},
-		{nothing, uniform(3, 8), uniform(3, 8)},
-		{uniform(3, 8), nothing, uniform(3, 8)},
-		{uniform(4, 4), uniform(4, 4), uniform(8, 8)},
-		{uniform(0, 1), uniform(1, 1), api.Matroid{N: 2, Bases: []int{2}}},
-		{uniform(1, 1), uniform(0, 1), api.Matroid{N: 2, Bases: []int{1}}},
-		{uniform(1, 2), uniform(1, 2), api.Matroid{N: 4, Bases: []int{5, 6, 9, 10}}},
-		{uniform(1, 2), uniform(2, 3), api.Matroid{N: 5, Bases: []int{13, 14, 21, 22, 25, 26}}},
+		{nothing, probe.Uniform(3, 8), probe.Uniform(3, 8)},
+		{probe.Uniform(3, 8), nothing, probe.Uniform(3, 8)},
+		{probe.Uniform(4, 4), probe.Uniform(4, 4), probe.Uniform(8, 8)},
+		{probe.Uniform(0, 1), probe.Uniform(1, 1), api.Matroid{N: 2, Bases: []int{2}}},
+		{probe.Uniform(1, 1), probe.Uniform(0, 1), api.Matroid{N: 2, Bases: []int{1}}},
+		{probe.Uniform(1, 2), probe.Uniform(1, 2), api.Matroid{N: 4, Bases: []int{5, 6, 9, 10}}},
+		{probe.Uniform(1, 2), probe.Uniform(2, 3), api.Matroid{N: 5, Bases: []int{13, 14, 21, 22, 25, 26}}},
 	} {
-		if got, e := minors.Sum(x.a, x.b); e != api.OK || !equal(got, x.want) {
+		if got, e := minors.Sum(x.a, x.b); e != api.OK || !probe.Equal(got, x.want) {
 			t.Errorf("Sum(%v, %v) = %v, %d, want %v", x.a, x.b, got, e, x.want)
 		}
 	}

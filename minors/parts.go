@@ -17,19 +17,6 @@ func leastOf(s int) int { return s & -s }
 // isIndependent: is s, by the ranks of all sets?
 func isIndependent(r []int, s int) bool { return r[s] == sets.Size(s) }
 
-// ofIndependents: the matroid of n elements with these independent sets. They
-// are known to be those of one, so its bases are the largest of them.
-func ofIndependents(n int, independent func(s int) bool) api.Matroid {
-	rank := 0
-	for s := range 1 << n {
-		if independent(s) {
-			rank = max(rank, sets.Size(s))
-		}
-	}
-	bases := sets.Sieve(n, func(s int) bool { return sets.Size(s) == rank && independent(s) })
-	return api.Matroid{N: n, Bases: bases}
-}
-
 // without s: the matroid of the other elements, in which the rank of a set is
 // by how much it raises that of the base.
 func without(m api.Matroid, s, base int) (api.Matroid, api.Errno) {
@@ -41,7 +28,7 @@ func without(m api.Matroid, s, base int) (api.Matroid, api.Errno) {
 		return api.Matroid{}, e
 	}
 	kept := wholeSet(m.N) &^ s
-	return ofIndependents(sets.Size(kept), func(t int) bool {
+	return axioms.WithIndependents(sets.Size(kept), func(t int) bool {
 		return r[oldNames(t, kept)|base]-r[base] == sets.Size(t)
 	}), api.OK
 }

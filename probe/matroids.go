@@ -70,6 +70,29 @@ func allBut(n, k int, but ...int) api.Matroid {
 	return api.Matroid{N: n, Bases: bases}
 }
 
+// Uniform: all sets of n elements that have as many as the rank.
+func Uniform(rank, n int) api.Matroid { return allBut(n, rank) }
+
+// Equal: are two matroids written alike?
+func Equal(a, b api.Matroid) bool { return a.N == b.N && slices.Equal(a.Bases, b.Bases) }
+
+// WithIndependents: the matroid whose bases are the independent sets that lie
+// in no other one.
+func WithIndependents(n int, independent func(s int) bool) api.Matroid {
+	var l, bases []int
+	for s := range 1 << n {
+		if independent(s) {
+			l = append(l, s)
+		}
+	}
+	for _, s := range l {
+		if !slices.ContainsFunc(l, func(o int) bool { return o != s && o&s == s }) {
+			bases = append(bases, s)
+		}
+	}
+	return api.Matroid{N: n, Bases: bases}
+}
+
 // within: what is left of m's bases in the elements of s, where s holds one.
 // All other elements are loops.
 func within(m api.Matroid, s int) api.Matroid {
@@ -113,7 +136,7 @@ func Known() []api.Matroid {
 	known = append(known, api.Matroid{N: 8, Bases: []int{0}}, api.Matroid{N: 8, Bases: []int{255}}, api.Matroid{N: 8, Bases: []int{0b10110}})
 	for n := 6; n <= 8; n++ {
 		for k := range n + 1 {
-			known = append(known, allBut(n, k))
+			known = append(known, Uniform(k, n))
 		}
 	}
 	return known

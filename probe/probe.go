@@ -7,6 +7,8 @@ package probe
 import (
 	"math"
 	"slices"
+
+	"rota/api"
 )
 
 // Wide holds numbers at and beyond every edge that the program knows.
@@ -31,55 +33,91 @@ func Lists() [][]int {
 const mark = -77
 
 // Roomy: l, with room behind it that tells whether it was written to.
-func Roomy(l []int) []int {
-	room := make([]int, len(l)+300)
-	for i := range room {
-		room[i] = mark
-	}
-	copy(room, l)
-	return room[:len(l)]
-}
+func Roomy(l []int) []int { return plain(mark).roomy(l) }
 
 // Untouched: is what was made by Roomy still as it was?
-func Untouched(list, was []int) bool {
-	if !slices.Equal(list, was) {
-		return false
-	}
-	for _, v := range list[len(list):cap(list)] {
-		if v != mark {
-			return false
-		}
-	}
-	return true
-}
+func Untouched(list, was []int) bool { return plain(mark).untouched(list, was) }
 
 // Overwrite all of an answer, its spare room included.
-func Overwrite(l []int) {
-	room := l[:cap(l)]
-	for i := range room {
-		room[i] = mark - 1
-	}
-}
+func Overwrite(l []int) { overwrite(l, mark-1) }
 
 // Memory holds a call that takes a list and answers one to P2, and tells what
 // it breaks ("", if nothing).
-func Memory(l []int, do func([]int) []int) string {
-	handed := Roomy(l)
+func Memory(l []int, do func([]int) []int) string { return memory(plain(mark), l, do) }
+
+// MemoryOfGraph is Memory for a call that takes a graph.
+func MemoryOfGraph(g api.Graph, do func(api.Graph) []int) string {
+	edges := plain(api.Edge{A: mark, B: mark})
+	return memory(edges, g.Edges, func(l []api.Edge) []int { return do(api.Graph{N: g.N, Edges: l}) })
+}
+
+// MemoryOfMatrix is Memory for a call that takes a matrix: its list of rows,
+// and each row.
+func MemoryOfMatrix(x api.Matrix, do func(api.Matrix) []int) string {
+	rows := things[[]int]{mark: []int{mark}, copied: Roomy, isAsWas: Untouched}
+	return memory(rows, x.Rows, func(l [][]int) []int { return do(api.Matrix{P: x.P, Cols: x.Cols, Rows: l}) })
+}
+
+// things that a list may hold: one that no list holds, how one is copied, and
+// whether a copy is still as it was.
+type things[T any] struct {
+	mark    T
+	copied  func(T) T
+	isAsWas func(copied, was T) bool
+}
+
+// plain things are copied with the list that holds them.
+func plain[T comparable](mark T) things[T] {
+	return things[T]{
+		mark:    mark,
+		copied:  func(v T) T { return v },
+		isAsWas: func(a, b T) bool { return a == b },
+	}
+}
+
+func (k things[T]) roomy(l []T) []T {
+	room := make([]T, len(l)+300)
+	overwrite(room, k.mark)
+	for i, v := range l {
+		room[i] = k.copied(v)
+	}
+	return room[:len(l)]
+}
+
+func (k things[T]) untouched(list, was []T) bool {
+	for _, v := range list[len(list):cap(list)] {
+		if !k.isAsWas(v, k.mark) {
+			return false
+		}
+	}
+	return slices.EqualFunc(list, was, k.isAsWas)
+}
+
+func overwrite[T any](l []T, by T) {
+	room := l[:cap(l)]
+	for i := range room {
+		room[i] = by
+	}
+}
+
+// memory is Memory for a list of anything.
+func memory[T any](k things[T], l []T, do func([]T) []int) string {
+	handed := k.roomy(l)
 	first := do(handed)
-	if !Untouched(handed, l) {
+	if !k.untouched(handed, l) {
 		return "changes what is handed in"
 	}
 	kept := slices.Clone(first)
 	second := do(handed)
 	Overwrite(first)
-	if !Untouched(handed, l) {
+	if !k.untouched(handed, l) {
 		return "answers memory that was handed in"
 	}
 	third := do(handed)
 	if !slices.Equal(second, kept) || !slices.Equal(third, kept) {
 		return "hangs on earlier answers"
 	}
-	Overwrite(handed)
+	overwrite(handed, k.mark)
 	if !slices.Equal(second, kept) {
 		return "keeps what was handed in"
 	}

@@ -4,6 +4,7 @@ import (
 	"slices"
 	"testing"
 
+	"rota/api"
 	"rota/probe"
 )
 
@@ -30,6 +31,67 @@ func TestMemoryTells(t *testing.T) {
 	} {
 		if told := probe.Memory(l, x.do); told != x.want {
 			t.Errorf("told %q, want %q", told, x.want)
+		}
+	}
+}
+
+func TestMemoryOfGraphTells(t *testing.T) {
+	g := probe.GraphOf(3, 0, 1, 1, 2)
+	var held []api.Edge
+	for _, x := range []struct {
+		want string
+		do   func(g api.Graph) []int
+	}{
+		{"", func(g api.Graph) []int { return []int{g.N, len(g.Edges), g.Edges[1].B} }},
+		{"changes what is handed in", func(g api.Graph) []int { g.Edges[1].B = 0; return nil }},
+		{"changes what is handed in", func(g api.Graph) []int { _ = append(g.Edges, api.Edge{}); return nil }},
+		{"hangs on earlier answers", func(g api.Graph) []int {
+			held = append(held, g.Edges...)
+			return make([]int, len(held))
+		}},
+	} {
+		if told := probe.MemoryOfGraph(g, x.do); told != x.want {
+			t.Errorf("told %q, want %q", told, x.want)
+		}
+	}
+}
+
+func TestMemoryOfMatrixTells(t *testing.T) {
+	for _, x := range []struct {
+		want string
+		do   func(x api.Matrix) []int
+	}{
+		{"", func(x api.Matrix) []int { return slices.Concat(x.Rows...) }},
+		{"changes what is handed in", func(x api.Matrix) []int { x.Rows[1] = nil; return nil }},
+		{"changes what is handed in", func(x api.Matrix) []int { _ = append(x.Rows, nil); return nil }},
+		{"changes what is handed in", func(x api.Matrix) []int { x.Rows[1][0] = 7; return nil }},
+		{"changes what is handed in", func(x api.Matrix) []int { _ = append(x.Rows[1], 7); return nil }},
+		{"answers memory that was handed in", func(x api.Matrix) []int { return x.Rows[1][1:] }},
+	} {
+		if told := probe.MemoryOfMatrix(probe.MatrixOf(5, 2, 1, 2, 3, 4), x.do); told != x.want {
+			t.Errorf("told %q, want %q", told, x.want)
+		}
+	}
+}
+
+func TestSmall(t *testing.T) {
+	// Of one, two and three vertices, with up to three edges.
+	if got, want := len(probe.SmallGraphs()), 4+(1+4+16+64)+(1+9+81+729); got != want {
+		t.Errorf("%d graphs, want %d", got, want)
+	}
+	if got := probe.MatrixOf(5, 2, 1, 2, 3, 4); len(got.Rows) != 2 || !slices.Equal(got.Rows[1], []int{3, 4}) {
+		t.Error(got)
+	}
+	if got := probe.GraphOf(3, 0, 1, 1, 2); len(got.Edges) != 2 || got.Edges[1] != (api.Edge{A: 1, B: 2}) {
+		t.Error(got)
+	}
+}
+
+func TestWithIndependents(t *testing.T) {
+	for _, m := range probe.Matroids() {
+		got := probe.WithIndependents(m.N, func(s int) bool { return probe.Independent(m, s) })
+		if !probe.Equal(got, m) {
+			t.Errorf("got %v, want %v", got, m)
 		}
 	}
 }

@@ -1,0 +1,25 @@
+package axioms
+
+import (
+	"rota/api"
+	"rota/sets"
+)
+
+// What follows is for the layers below: it takes what it is handed as it is.
+
+// WithIndependents: the matroid of n elements with these independent sets.
+// They are known to be those of one, so its bases are the largest of them.
+func WithIndependents(n int, independent func(s int) bool) api.Matroid {
+	l := sets.Sieve(n, independent)
+	rank := 0
+	for _, s := range l {
+		rank = max(rank, sets.Size(s))
+	}
+	var bases []int
+	for _, s := range l {
+		if sets.Size(s) == rank {
+			bases = append(bases, s)
+		}
+	}
+	return api.Matroid{N: n, Bases: bases}
+}
