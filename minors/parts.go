@@ -8,9 +8,6 @@ import (
 	"rota/sets"
 )
 
-// wholeSet: the set of all of n elements.
-func wholeSet(n int) int { return 1<<n - 1 }
-
 // leastOf s, which is not empty: its least element, as a set.
 func leastOf(s int) int { return s & -s }
 
@@ -27,22 +24,10 @@ func without(m api.Matroid, s, base int) (api.Matroid, api.Errno) {
 	if e := sets.Check(m.N, s); e != api.OK {
 		return api.Matroid{}, e
 	}
-	kept := wholeSet(m.N) &^ s
+	kept := sets.Whole(m.N) &^ s
 	return axioms.WithIndependents(sets.Size(kept), func(t int) bool {
-		return r[oldNames(t, kept)|base]-r[base] == sets.Size(t)
+		return r[sets.OldNames(t, kept)|base]-r[base] == sets.Size(t)
 	}), api.OK
-}
-
-// oldNames: the set that is t once the kept elements are numbered anew.
-func oldNames(t, kept int) int {
-	old := 0
-	for x := range sets.Singles(kept) {
-		if t&1 == 1 {
-			old |= x
-		}
-		t >>= 1
-	}
-	return old
 }
 
 // classes by the ranks of all sets. Two loops, or two parallel elements, have
@@ -55,7 +40,7 @@ func classes(n int, r []int) []int {
 // one. Whether an element is together with itself is not asked.
 func partition(n int, together func(x, y int) bool) []int {
 	var parts []int
-	rest := wholeSet(n)
+	rest := sets.Whole(n)
 	for rest != 0 {
 		x := leastOf(rest)
 		part := x

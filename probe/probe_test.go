@@ -96,6 +96,22 @@ func TestWithIndependents(t *testing.T) {
 	}
 }
 
+func TestOrders(t *testing.T) {
+	for n, want := range []int{1, 1, 2, 6, 24, 120} {
+		all := probe.Orders(n)
+		if len(all) != want || !slices.IsSortedFunc(all, slices.Compare[[]int]) {
+			t.Errorf("%d elements: %v", n, all)
+		}
+	}
+	m, p := api.Matroid{N: 3, Bases: []int{3, 5}}, []int{2, 0, 1}
+	if got := probe.Renamed(m, p); !probe.Equal(got, api.Matroid{N: 3, Bases: []int{5, 6}}) {
+		t.Error(got)
+	}
+	if got := probe.Inverse(p); !slices.Equal(got, []int{1, 2, 0}) {
+		t.Error(got)
+	}
+}
+
 func TestAll(t *testing.T) {
 	for n, want := range []int{1, 2, 5, 16, 68, 406} {
 		if got := len(probe.All(n)); got != want {

@@ -9,6 +9,9 @@ import (
 // What follows is for the layers below: it takes sets as they are, without
 // asking whether they are any.
 
+// Whole: the set of all of n elements.
+func Whole(n int) int { return 1<<n - 1 }
+
 // Size: how many elements s has.
 func Size(s int) int { return bits.OnesCount(uint(s)) }
 
@@ -41,7 +44,19 @@ func Sieve(n int, wanted func(s int) bool) []int {
 func Complements(n int, l []int) []int {
 	others := make([]int, 0, len(l))
 	for _, s := range slices.Backward(l) {
-		others = append(others, 1<<n-1-s)
+		others = append(others, Whole(n)&^s)
 	}
 	return others
+}
+
+// OldNames: the set that is s once the kept elements are numbered anew.
+func OldNames(s, kept int) int {
+	old := 0
+	for x := range Singles(kept) {
+		if s&1 == 1 {
+			old |= x
+		}
+		s >>= 1
+	}
+	return old
 }

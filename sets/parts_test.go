@@ -41,3 +41,26 @@ func TestComplements(t *testing.T) {
 		}
 	})
 }
+
+func TestOldNames(t *testing.T) {
+	for kept := range 256 {
+		names := elements(kept)
+		for s := range 1 << len(names) {
+			want := 0
+			for _, e := range elements(s) {
+				want |= 1 << names[e]
+			}
+			if got := sets.OldNames(s, kept); got != want {
+				t.Errorf("OldNames(%d, %d) = %d, want %d", s, kept, got, want)
+			}
+		}
+	}
+}
+
+func TestWhole(t *testing.T) {
+	for n := range 9 {
+		if got := elements(sets.Whole(n)); len(got) != n || n > 0 && got[n-1] != n-1 {
+			t.Errorf("Whole(%d) has %v", n, got)
+		}
+	}
+}
