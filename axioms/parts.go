@@ -7,6 +7,9 @@ import (
 
 // What follows is for the layers below: it takes what it is handed as it is.
 
+// IsIndependent: is s, by the ranks of all sets?
+func IsIndependent(r []int, s int) bool { return r[s] == sets.Size(s) }
+
 // WithIndependents: the matroid of n elements with these independent sets.
 // They are known to be those of one, so its bases are the largest of them.
 func WithIndependents(n int, independent func(s int) bool) api.Matroid {

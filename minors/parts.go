@@ -8,12 +8,6 @@ import (
 	"rota/sets"
 )
 
-// leastOf s, which is not empty: its least element, as a set.
-func leastOf(s int) int { return s & -s }
-
-// isIndependent: is s, by the ranks of all sets?
-func isIndependent(r []int, s int) bool { return r[s] == sets.Size(s) }
-
 // without s: the matroid of the other elements, in which the rank of a set is
 // by how much it raises that of the base.
 func without(m api.Matroid, s, base int) (api.Matroid, api.Errno) {
@@ -42,7 +36,7 @@ func partition(n int, together func(x, y int) bool) []int {
 	var parts []int
 	rest := sets.Whole(n)
 	for rest != 0 {
-		x := leastOf(rest)
+		x := sets.Lowest(rest)
 		part := x
 		for y := range sets.Singles(rest &^ x) {
 			if together(x, y) {

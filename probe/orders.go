@@ -24,6 +24,39 @@ func Orders(n int) [][]int {
 	return all
 }
 
+// SomeOrders of n elements: all of few, and some of many.
+func SomeOrders(n int) [][]int {
+	all := Orders(n)
+	if n <= 5 {
+		return all
+	}
+	var some [][]int
+	var jumps Jumps
+	for range 20 {
+		some = append(some, all[jumps.Next(len(all))])
+	}
+	return append(some, all[0], all[1], all[len(all)-1])
+}
+
+// NoOrders are nearly the order p, but none of as many elements: one number is
+// wrong, comes twice, or is missing.
+func NoOrders(p []int) [][]int {
+	n := len(p)
+	wrong := [][]int{append(slices.Clone(p), n), append(slices.Clone(p), 0), append([]int{-1}, p...)}
+	for i := range p {
+		wrong = append(wrong, slices.Delete(slices.Clone(p), i, i+1))
+		for _, x := range append(Wide(), n, p[(i+1)%n]) {
+			if x == p[i] {
+				continue
+			}
+			l := slices.Clone(p)
+			l[i] = x
+			wrong = append(wrong, l)
+		}
+	}
+	return wrong
+}
+
 // Renamed: m, in which each element has its number of the order.
 func Renamed(m api.Matroid, order []int) api.Matroid {
 	var bases []int

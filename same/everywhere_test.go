@@ -152,7 +152,7 @@ func TestMemory(t *testing.T) {
 // TestMemoryOfOrders is P2, of the order that is handed to Rename.
 func TestMemoryOfOrders(t *testing.T) {
 	for _, m := range append(probe.Known(), probe.All(4)...) {
-		for _, p := range slices.Concat(someOrders(m.N)[:2], probe.Lists()) {
+		for _, p := range slices.Concat(probe.SomeOrders(m.N)[:2], probe.Lists()) {
 			told := probe.Memory(p, func(p []int) []int { return rename(m, p).list() })
 			if told != "" {
 				t.Errorf("Rename(%v, %.8v) %s", m, p, told)

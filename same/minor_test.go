@@ -115,7 +115,7 @@ func excluded(t *testing.T) []api.Matroid {
 
 func TestMinorOfKnown(t *testing.T) {
 	for _, m := range probe.Known()[:11] {
-		holdMinors(t, probe.Renamed(m, someOrders(m.N)[0]), append(excluded(t), m))
+		holdMinors(t, probe.Renamed(m, probe.SomeOrders(m.N)[0]), append(excluded(t), m))
 	}
 }
 

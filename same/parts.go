@@ -7,8 +7,8 @@ import (
 	"rota/sets"
 )
 
-// isOrder: is p an order of n elements?
-func isOrder(n int, p []int) bool {
+// IsOrder: is p an order of n elements? The layers below ask it too.
+func IsOrder(n int, p []int) bool {
 	taken := 0
 	for _, x := range p {
 		if x < 0 || x >= n || taken>>x&1 == 1 {

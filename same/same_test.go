@@ -9,23 +9,9 @@ import (
 	"rota/same"
 )
 
-// someOrders of n elements: all of few, and some of many.
-func someOrders(n int) [][]int {
-	all := probe.Orders(n)
-	if n <= 5 {
-		return all
-	}
-	var some [][]int
-	var jumps probe.Jumps
-	for range 20 {
-		some = append(some, all[jumps.Next(len(all))])
-	}
-	return append(some, all[0], all[1], all[len(all)-1])
-}
-
 func TestRename(t *testing.T) {
 	for _, m := range probe.Matroids() {
-		for _, p := range someOrders(m.N) {
+		for _, p := range probe.SomeOrders(m.N) {
 			want := probe.Renamed(m, p)
 			got, e := same.Rename(m, p)
 			if e != api.OK || !probe.Equal(got, want) {
@@ -38,27 +24,9 @@ func TestRename(t *testing.T) {
 	}
 }
 
-// nearly the order p, but none of as many elements: one number is wrong, comes twice, or is missing.
-func nearly(p []int) [][]int {
-	n := len(p)
-	wrong := [][]int{append(slices.Clone(p), n), append(slices.Clone(p), 0), append([]int{-1}, p...)}
-	for i := range p {
-		wrong = append(wrong, slices.Delete(slices.Clone(p), i, i+1))
-		for _, x := range append(probe.Wide(), n, p[(i+1)%n]) {
-			if x == p[i] {
-				continue
-			}
-			l := slices.Clone(p)
-			l[i] = x
-			wrong = append(wrong, l)
-		}
-	}
-	return wrong
-}
-
 func TestRenameNoOrders(t *testing.T) {
 	for _, m := range probe.Matroids() {
-		for _, l := range nearly(someOrders(m.N)[0]) {
+		for _, l := range probe.NoOrders(probe.SomeOrders(m.N)[0]) {
 			if got, e := same.Rename(m, l); e != api.ErrArg || got.N != 0 || len(got.Bases) != 0 {
 				t.Errorf("Rename(%v, %v) = %v, %d, want %d", m, l, got, e, api.ErrArg)
 			}
@@ -118,7 +86,7 @@ func firstOrder(orders [][]int, a, b api.Matroid) ([]int, bool) {
 func TestIsomorphicOfKnown(t *testing.T) {
 	for _, m := range probe.Known() {
 		all := probe.Orders(m.N)
-		for _, p := range someOrders(m.N)[:5] {
+		for _, p := range probe.SomeOrders(m.N)[:5] {
 			b := probe.Renamed(m, p)
 			first, ok := firstOrder(all, m, b)
 			holdIsomorphic(t, m, b, first, ok)
@@ -219,7 +187,7 @@ func leastOf(orders [][]int, m api.Matroid) api.Matroid {
 func TestCanon(t *testing.T) {
 	for _, m := range probe.Matroids() {
 		want := leastOf(probe.Orders(m.N), m)
-		for _, x := range []api.Matroid{m, probe.Renamed(m, someOrders(m.N)[0])} {
+		for _, x := range []api.Matroid{m, probe.Renamed(m, probe.SomeOrders(m.N)[0])} {
 			if got, e := same.Canon(x); e != api.OK || !probe.Equal(got, want) {
 				t.Errorf("Canon(%v) = %v, %d, want %v", x, got, e, want)
 			}

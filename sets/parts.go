@@ -18,11 +18,14 @@ func Size(s int) int { return bits.OnesCount(uint(s)) }
 // Within: does b have all elements of a?
 func Within(a, b int) bool { return a&^b == 0 }
 
+// Lowest: the least element of s, as a set of its own; of no elements none.
+func Lowest(s int) int { return s & -s }
+
 // Singles: the elements of s, rising, each as a set of its own.
 func Singles(s int) iter.Seq[int] {
 	return func(yield func(int) bool) {
 		for rest := s; rest != 0; rest = withoutLeast(rest) {
-			if !yield(rest & -rest) {
+			if !yield(Lowest(rest)) {
 				return
 			}
 		}

@@ -16,6 +16,9 @@ func TestParts(t *testing.T) {
 		if got := slices.Collect(sets.Singles(s)); !slices.Equal(got, singles) {
 			t.Errorf("Singles(%d) = %v", s, got)
 		}
+		if got := sets.Lowest(s); s == 0 && got != 0 || s != 0 && got != singles[0] {
+			t.Errorf("Lowest(%d) = %d", s, got)
+		}
 		if sets.Size(s) != len(singles) {
 			t.Errorf("Size(%d) = %d", s, sets.Size(s))
 		}

@@ -1,0 +1,75 @@
+package greedy
+
+import (
+	"cmp"
+	"slices"
+
+	"rota/api"
+	"rota/axioms"
+	"rota/sets"
+)
+
+// checkWeights: is w a weight for each of n elements?
+func checkWeights(n int, w []int) api.Errno {
+	if len(w) != n {
+		return api.ErrShape
+	}
+	for _, x := range w {
+		if x < -api.MaxNumber || x > api.MaxNumber {
+			return api.ErrArg
+		}
+	}
+	return api.OK
+}
+
+// weigh the elements of s together.
+func weigh(w []int, s int) int {
+	sum := 0
+	for i, x := range w {
+		if sets.Within(1<<i, s) {
+			sum += x
+		}
+	}
+	return sum
+}
+
+// heaviestFirst: the order by the weights; of the same weight the lesser
+// element stays ahead.
+func heaviestFirst(w []int) []int {
+	order := make([]int, len(w))
+	for i := range order {
+		order[i] = i
+	}
+	slices.SortStableFunc(order, func(x, y int) int { return cmp.Compare(w[y], w[x]) })
+	return order
+}
+
+// grow the greedy basis by an order: no elements, and what is taken behind
+// each that is.
+func grow(r, order []int) []int {
+	steps := []int{0}
+	for _, x := range order {
+		if more := last(steps) | 1<<x; axioms.IsIndependent(r, more) {
+			steps = append(steps, more)
+		}
+	}
+	return steps
+}
+
+// last of a list that has one.
+func last(l []int) int { return l[len(l)-1] }
+
+// checkBases: is m a matroid, and is each set of l a basis of it?
+func checkBases(m api.Matroid, l ...int) api.Errno {
+	if e := axioms.Check(m); e != api.OK {
+		return e
+	}
+	for _, s := range l {
+		if !isBasis(m, s) {
+			return api.ErrArg
+		}
+	}
+	return api.OK
+}
+
+func isBasis(m api.Matroid, s int) bool { return slices.Contains(m.Bases, s) }
