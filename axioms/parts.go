@@ -5,6 +5,20 @@ import (
 	"rota/sets"
 )
 
+// RanksOfBoth is Ranks for the layers below that are handed two matroids: of
+// the first that is none they answer what Check says.
+func RanksOfBoth(a, b api.Matroid) (ofA, ofB []int, err api.Errno) {
+	ofA, e := Ranks(a)
+	if e != api.OK {
+		return nil, nil, e
+	}
+	ofB, e = Ranks(b)
+	if e != api.OK {
+		return nil, nil, e
+	}
+	return ofA, ofB, api.OK
+}
+
 // What follows is for the layers below: it takes what it is handed as it is.
 
 // IsIndependent: is s, by the ranks of all sets?

@@ -34,11 +34,7 @@ func isNoGreater(images []int, isBasis, least []bool) bool {
 // eachBetween hands to found the orders that make Rename of a be b, rising, as
 // long as it says that more are wanted.
 func eachBetween(a, b api.Matroid, found func(o order) bool) api.Errno {
-	ofA, e := axioms.Ranks(a)
-	if e != api.OK {
-		return e
-	}
-	ofB, e := axioms.Ranks(b)
+	ofA, ofB, e := axioms.RanksOfBoth(a, b)
 	if e != api.OK {
 		return e
 	}
