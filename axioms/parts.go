@@ -19,10 +19,35 @@ func RanksOfBoth(a, b api.Matroid) (ofA, ofB []int, err api.Errno) {
 	return ofA, ofB, api.OK
 }
 
+// RanksOfAlike is RanksOfBoth for those that must have as many elements:
+// ErrShape, if they have not.
+func RanksOfAlike(a, b api.Matroid) (ofA, ofB []int, err api.Errno) {
+	ofA, ofB, e := RanksOfBoth(a, b)
+	if e != api.OK {
+		return nil, nil, e
+	}
+	if a.N != b.N {
+		return nil, nil, api.ErrShape
+	}
+	return ofA, ofB, api.OK
+}
+
 // What follows is for the layers below: it takes what it is handed as it is.
 
 // IsIndependent: is s, by the ranks of all sets?
 func IsIndependent(r []int, s int) bool { return r[s] == sets.Size(s) }
+
+// Closed: s and all elements with which its rank is no more, by the ranks of
+// all sets, the last of which is that of all elements.
+func Closed(r []int, s int) int {
+	closed := s
+	for x := range sets.Singles(len(r) - 1 - s) {
+		if r[s|x] == r[s] {
+			closed |= x
+		}
+	}
+	return closed
+}
 
 // WithIndependents: the matroid of n elements with these independent sets.
 // They are known to be those of one, so its bases are the largest of them.

@@ -170,7 +170,7 @@ func told(a answer) []int {
 // TestMemoryOfLists is P2, of the weights and orders that are handed in.
 func TestMemoryOfLists(t *testing.T) {
 	for _, m := range append(probe.Known(), probe.All(4)...) {
-		lists := slices.Concat(probe.SomeOrders(m.N)[:2], someWeights(m.N)[:20], probe.Lists()[:8])
+		lists := slices.Concat(probe.SomeOrders(m.N)[:2], probe.SomeWeights(m.N)[:20], probe.Lists()[:8])
 		for _, l := range lists {
 			for _, c := range callsOfLists() {
 				if told := probe.Memory(l, func(l []int) []int { return told(c.do(m, l)) }); told != "" {

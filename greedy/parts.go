@@ -9,8 +9,9 @@ import (
 	"rota/sets"
 )
 
-// checkWeights: is w a weight for each of n elements?
-func checkWeights(n int, w []int) api.Errno {
+// CheckWeights: is w a weight for each of n elements? The layers below that
+// are handed weights ask it too.
+func CheckWeights(n int, w []int) api.Errno {
 	if len(w) != n {
 		return api.ErrShape
 	}
@@ -22,8 +23,9 @@ func checkWeights(n int, w []int) api.Errno {
 	return api.OK
 }
 
-// weigh the elements of s together.
-func weigh(w []int, s int) int {
+// Weigh the elements of s together: for the layers below, too; w and s are
+// taken as they are.
+func Weigh(w []int, s int) int {
 	sum := 0
 	for i, x := range w {
 		if sets.Within(1<<i, s) {

@@ -34,50 +34,6 @@ func byWeight(w []int) []int {
 	return order
 }
 
-// weight of the elements of s together.
-func weight(w []int, s int) int {
-	sum := 0
-	for _, i := range probe.Elements(s) {
-		sum += w[i]
-	}
-	return sum
-}
-
-// weights of n elements, each one of these.
-func weights(n int, choice ...int) [][]int {
-	all := [][]int{nil}
-	for range n {
-		var longer [][]int
-		for _, w := range all {
-			for _, x := range choice {
-				longer = append(longer, append(w[:len(w):len(w)], x))
-			}
-		}
-		all = longer
-	}
-	return all
-}
-
-// someWeights of n elements: all of a few numbers where there are few, and
-// such as jump about, with the same one again and at the edges.
-func someWeights(n int) [][]int {
-	var some [][]int
-	if n <= 4 {
-		some = weights(n, -1000, -1, 0, 1000)
-	}
-	var jumps probe.Jumps
-	for _, far := range []int{1, 2, 1000} {
-		for range 12 {
-			w := make([]int, n)
-			for i := range w {
-				w[i] = jumps.Next(2*far+1) - far
-			}
-			some = append(some, w)
-		}
-	}
-	return some
-}
-
 // holdWeights holds m to the words of P16.
 func holdWeights(t *testing.T, m api.Matroid, w []int) {
 	t.Helper()
@@ -86,14 +42,14 @@ func holdWeights(t *testing.T, m api.Matroid, w []int) {
 		t.Errorf("Steps(%v, %v) = %v, %d, want %v", m, w, got, e, want)
 	}
 	basis := want[len(want)-1]
-	if got, n, e := greedy.Best(m, w); e != api.OK || got != basis || n != weight(w, basis) {
-		t.Errorf("Best(%v, %v) = %d, %d, %d, want %d, %d", m, w, got, n, e, basis, weight(w, basis))
+	if got, n, e := greedy.Best(m, w); e != api.OK || got != basis || n != probe.Weight(w, basis) {
+		t.Errorf("Best(%v, %v) = %d, %d, %d, want %d, %d", m, w, got, n, e, basis, probe.Weight(w, basis))
 	}
 }
 
 func TestWeights(t *testing.T) {
 	for _, m := range probe.Matroids() {
-		for _, w := range someWeights(m.N) {
+		for _, w := range probe.SomeWeights(m.N) {
 			holdWeights(t, m, w)
 		}
 	}
@@ -103,19 +59,19 @@ func TestWeights(t *testing.T) {
 // set more than the step with as many elements.
 func TestNoneWeighsMore(t *testing.T) {
 	for _, m := range probe.Matroids() {
-		for _, w := range someWeights(m.N)[:24] {
+		for _, w := range probe.SomeWeights(m.N)[:24] {
 			best, n, e := greedy.Best(m, w)
 			if e != api.OK || !slices.Contains(m.Bases, best) {
 				t.Errorf("Best(%v, %v) = %d, %d, %d, which is no basis", m, w, best, n, e)
 			}
 			for _, b := range m.Bases {
-				if weight(w, b) > n {
+				if probe.Weight(w, b) > n {
 					t.Errorf("%v, %v: %d weighs more than %d", m, w, b, best)
 				}
 			}
 			got, _ := greedy.Steps(m, w)
 			for s := range 1 << m.N {
-				if probe.Independent(m, s) && weight(w, s) > weight(w, got[len(probe.Elements(s))]) {
+				if probe.Independent(m, s) && probe.Weight(w, s) > probe.Weight(w, got[len(probe.Elements(s))]) {
 					t.Errorf("%v, %v: %d weighs more than the step of %v", m, w, s, got)
 				}
 			}
@@ -173,25 +129,23 @@ func holdNoWeights(t *testing.T, m api.Matroid, w []int, want api.Errno) {
 
 func TestNoWeights(t *testing.T) {
 	for _, m := range probe.Matroids() {
-		w := make([]int, m.N)
-		holdNoWeights(t, m, append(slices.Clone(w), 0), api.ErrShape)
-		// It has a number that is no weight, but what is told first holds.
-		holdNoWeights(t, m, append(slices.Clone(w), 1001), api.ErrShape)
-		for i := range w {
-			holdNoWeights(t, m, w[1:], api.ErrShape)
-			for _, x := range append(probe.Wide(), -1001, 1001) {
-				wrong := slices.Clone(w)
-				wrong[i] = x
-				if x < -1000 || x > 1000 {
-					holdNoWeights(t, m, wrong, api.ErrArg)
-				} else {
-					holdWeights(t, m, wrong)
-				}
-			}
+		for _, x := range probe.NoWeights(m.N) {
+			holdNoWeights(t, m, x.L, x.Want)
 		}
-		for _, l := range probe.Lists() {
-			if len(l) != m.N {
-				holdNoWeights(t, m, l, api.ErrShape)
+	}
+}
+
+// TestWeightsOfOne: each element in turn weighs something, up to as much, and
+// down to as little, as it may.
+func TestWeightsOfOne(t *testing.T) {
+	for _, m := range probe.Matroids() {
+		for i := range m.N {
+			for _, x := range append(probe.Wide(), -1000, 1000) {
+				if x >= -1000 && x <= 1000 {
+					w := make([]int, m.N)
+					w[i] = x
+					holdWeights(t, m, w)
+				}
 			}
 		}
 	}
