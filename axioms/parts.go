@@ -49,6 +49,9 @@ func Closed(r []int, s int) int {
 	return closed
 }
 
+// IsFlat: is s, by the ranks of all sets?
+func IsFlat(r []int, s int) bool { return Closed(r, s) == s }
+
 // WithIndependents: the matroid of n elements with these independent sets.
 // They are known to be those of one, so its bases are the largest of them.
 func WithIndependents(n int, independent func(s int) bool) api.Matroid {

@@ -38,12 +38,15 @@ func Roomy(l []int) []int { return plain(mark).roomy(l) }
 // Untouched: is what was made by Roomy still as it was?
 func Untouched(list, was []int) bool { return plain(mark).untouched(list, was) }
 
+// number of a list that is answered.
+type number interface{ ~int | ~int64 }
+
 // Overwrite all of an answer, its spare room included.
-func Overwrite(l []int) { overwrite(l, mark-1) }
+func Overwrite[A number](l []A) { overwrite(l, mark-1) }
 
 // Memory holds a call that takes a list and answers one to P2, and tells what
 // it breaks ("", if nothing).
-func Memory(l []int, do func([]int) []int) string { return memory(plain(mark), l, do) }
+func Memory[A number](l []int, do func([]int) []A) string { return memory(plain(mark), l, do) }
 
 // MemoryOfGraph is Memory for a call that takes a graph.
 func MemoryOfGraph(g api.Graph, do func(api.Graph) []int) string {
@@ -101,7 +104,7 @@ func overwrite[T any](l []T, by T) {
 }
 
 // memory is Memory for a list of anything.
-func memory[T any](k things[T], l []T, do func([]T) []int) string {
+func memory[T any, A number](k things[T], l []T, do func([]T) []A) string {
 	handed := k.roomy(l)
 	first := do(handed)
 	if !k.untouched(handed, l) {

@@ -35,6 +35,16 @@ func TestMemoryTells(t *testing.T) {
 	}
 }
 
+func TestMemoryOfLongNumbersTells(t *testing.T) {
+	once := []int64{1, 2, 3}
+	if told := probe.Memory([]int{1}, func([]int) []int64 { return slices.Clone(once) }); told != "" {
+		t.Errorf("told %q", told)
+	}
+	if told := probe.Memory([]int{1}, func([]int) []int64 { return once }); told != "hangs on earlier answers" {
+		t.Errorf("told %q", told)
+	}
+}
+
 func TestMemoryOfGraphTells(t *testing.T) {
 	g := probe.GraphOf(3, 0, 1, 1, 2)
 	var held []api.Edge
