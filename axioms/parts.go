@@ -1,6 +1,8 @@
 package axioms
 
 import (
+	"slices"
+
 	"rota/api"
 	"rota/sets"
 )
@@ -32,7 +34,24 @@ func RanksOfAlike(a, b api.Matroid) (ofA, ofB []int, err api.Errno) {
 	return ofA, ofB, api.OK
 }
 
+// CheckBases is Check for the layers below that are handed bases, too: ErrArg,
+// if a set of l is none.
+func CheckBases(m api.Matroid, l ...int) api.Errno {
+	if e := Check(m); e != api.OK {
+		return e
+	}
+	for _, s := range l {
+		if !IsBasis(m, s) {
+			return api.ErrArg
+		}
+	}
+	return api.OK
+}
+
 // What follows is for the layers below: it takes what it is handed as it is.
+
+// IsBasis: is s one of m?
+func IsBasis(m api.Matroid, s int) bool { return slices.Contains(m.Bases, s) }
 
 // IsIndependent: is s, by the ranks of all sets?
 func IsIndependent(r []int, s int) bool { return r[s] == sets.Size(s) }

@@ -60,18 +60,3 @@ func grow(r, order []int) []int {
 
 // last of a list that has one.
 func last(l []int) int { return l[len(l)-1] }
-
-// checkBases: is m a matroid, and is each set of l a basis of it?
-func checkBases(m api.Matroid, l ...int) api.Errno {
-	if e := axioms.Check(m); e != api.OK {
-		return e
-	}
-	for _, s := range l {
-		if !isBasis(m, s) {
-			return api.ErrArg
-		}
-	}
-	return api.OK
-}
-
-func isBasis(m api.Matroid, s int) bool { return slices.Contains(m.Bases, s) }

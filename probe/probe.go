@@ -44,14 +44,28 @@ type number interface{ ~int | ~int64 }
 // Overwrite all of an answer, its spare room included.
 func Overwrite[A number](l []A) { overwrite(l, mark-1) }
 
+// Apart: has each of these lists memory of its own? They are overwritten, spare
+// room included.
+func Apart[A number](lists [][]A) bool {
+	for i, l := range lists {
+		overwrite(l, A(i))
+	}
+	for i, l := range lists {
+		if slices.ContainsFunc(l[:cap(l)], func(v A) bool { return v != A(i) }) {
+			return false
+		}
+	}
+	return true
+}
+
 // Memory holds a call that takes a list and answers one to P2, and tells what
 // it breaks ("", if nothing).
 func Memory[A number](l []int, do func([]int) []A) string { return memory(plain(mark), l, do) }
 
 // MemoryOfGraph is Memory for a call that takes a graph.
-func MemoryOfGraph(g api.Graph, do func(api.Graph) []int) string {
+func MemoryOfGraph[A number](g api.Graph, do func(api.Graph) []A) string {
 	edges := plain(api.Edge{A: mark, B: mark})
-	return memory(edges, g.Edges, func(l []api.Edge) []int { return do(api.Graph{N: g.N, Edges: l}) })
+	return memory(edges, g.Edges, func(l []api.Edge) []A { return do(api.Graph{N: g.N, Edges: l}) })
 }
 
 // MemoryOfMatrix is Memory for a call that takes a matrix: its list of rows,

@@ -45,6 +45,26 @@ func TestMemoryOfLongNumbersTells(t *testing.T) {
 	}
 }
 
+func TestApart(t *testing.T) {
+	room := make([]int64, 10)
+	for _, x := range []struct {
+		lists [][]int64
+		want  bool
+	}{
+		{nil, true},
+		{[][]int64{nil, {}, {1}, {1, 2}}, true},
+		{[][]int64{room[:4:4], room[4:8:8], room[8:]}, true},
+		{[][]int64{room[:5:5], room[4:8:8]}, false},
+		// The room of the first is behind it.
+		{[][]int64{room[:4], room[4:8]}, false},
+		{[][]int64{room[:0], room[4:8:8]}, false},
+	} {
+		if got := probe.Apart(x.lists); got != x.want {
+			t.Errorf("%v: %t, want %t", x.lists, got, x.want)
+		}
+	}
+}
+
 func TestMemoryOfGraphTells(t *testing.T) {
 	g := probe.GraphOf(3, 0, 1, 1, 2)
 	var held []api.Edge
