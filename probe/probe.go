@@ -58,6 +58,16 @@ func Apart[A number](lists [][]A) bool {
 	return true
 }
 
+// RowsApart: have two answers of rows nothing together, neither rows nor the
+// lists of these, and no row memory of another one? They are overwritten.
+func RowsApart[A number](first, second [][]A) bool {
+	if !Apart(slices.Concat(first, second)) {
+		return false
+	}
+	overwrite(first, []A{mark})
+	return !slices.ContainsFunc(second, func(row []A) bool { return slices.Equal(row, []A{mark}) })
+}
+
 // Memory holds a call that takes a list and answers one to P2, and tells what
 // it breaks ("", if nothing).
 func Memory[A number](l []int, do func([]int) []A) string { return memory(plain(mark), l, do) }

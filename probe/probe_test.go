@@ -65,6 +65,28 @@ func TestApart(t *testing.T) {
 	}
 }
 
+func TestRowsApart(t *testing.T) {
+	row, rows := []int{1, 2}, [][]int{{1}, {2}, {3}}
+	for _, x := range []struct {
+		first, second [][]int
+		want          bool
+	}{
+		{nil, nil, true},
+		{[][]int{{1}, {}}, [][]int{{1}, {}}, true},
+		{[][]int{row}, [][]int{row}, false},
+		{[][]int{row, row}, nil, false},
+		{nil, [][]int{row, row[1:]}, false},
+		{[][]int{row[:0]}, [][]int{row[1:]}, false},
+		{rows[:1:1], rows[1:], true},
+		// The room of the first list of rows is the second one.
+		{rows[:1], rows[1:], false},
+	} {
+		if got := probe.RowsApart(x.first, x.second); got != x.want {
+			t.Errorf("%v, %v: %t, want %t", x.first, x.second, got, x.want)
+		}
+	}
+}
+
 func TestMemoryOfGraphTells(t *testing.T) {
 	g := probe.GraphOf(3, 0, 1, 1, 2)
 	var held []api.Edge

@@ -165,12 +165,8 @@ func TestRowsApart(t *testing.T) {
 	for _, m := range givenMatroids() {
 		first, _ := tutte.Polynomial(m)
 		second, _ := tutte.Polynomial(m)
-		if !probe.Apart(slices.Concat(first, second)) {
+		if !probe.RowsApart(first, second) {
 			t.Errorf("Polynomial(%v) has rows that are not apart", m)
-		}
-		clear(first[:cap(first)])
-		if slices.ContainsFunc(second, func(row []int64) bool { return row == nil }) {
-			t.Errorf("Polynomial(%v) answers one list twice", m)
 		}
 	}
 }
