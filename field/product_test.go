@@ -148,8 +148,9 @@ func some() []api.Matrix {
 // TestTimes tries each of some matrices with each: shapes that fit and shapes
 // that do not.
 func TestTimes(t *testing.T) {
-	for _, x := range some() {
-		for _, y := range some() {
+	all := some()
+	for _, x := range all {
+		for _, y := range all {
 			got, e := field.Times(x, y)
 			if x.P != y.P || x.Cols != len(y.Rows) {
 				if e != api.ErrShape || !isZero(got) {

@@ -110,18 +110,10 @@ func equal(x, y api.Matrix) bool {
 	return isOne(x, y.P, len(y.Rows), y.Cols) && slices.EqualFunc(x.Rows, y.Rows, slices.Equal[[]int])
 }
 
-// given: matrices of all kinds, but few of those of which there are millions
-// of lists.
-func given() []api.Matrix {
-	return slices.DeleteFunc(probe.Matrices(), func(x api.Matrix) bool {
-		return x.P == 7 && x.Cols > 6 && len(x.Rows)%2 == 0
-	})
-}
-
 // TestReduced holds Reduced and Rank to the words of P25: no two reduced
 // matrices have the same words.
 func TestReduced(t *testing.T) {
-	for _, x := range given() {
+	for _, x := range probe.Matrices() {
 		got, e := field.Reduced(x)
 		if e != api.OK || !isOne(got, x.P, len(got.Rows), x.Cols) || !isReduced(got) {
 			t.Errorf("Reduced(%v) = %v, %d", x, got, e)
@@ -139,7 +131,7 @@ func TestReduced(t *testing.T) {
 }
 
 func TestKernel(t *testing.T) {
-	for _, x := range given() {
+	for _, x := range probe.Matrices() {
 		want := crossers(x)
 		got, e := field.Kernel(x)
 		if count(want) > power(x.P, 6) {
