@@ -88,21 +88,3 @@ func across(r api.Matrix) api.Matrix {
 	}
 	return x
 }
-
-// determinant of as many rows as s has columns, by Laplace's rule: each number
-// of the first row times the determinant of what is in other rows and columns,
-// added and taken away by turns. There are six rows at most.
-func determinant(p int, rows [][]int, s int) int {
-	if len(rows) == 0 {
-		return 1
-	}
-	sum, sign := 0, 1
-	for j, v := range rows[0] {
-		if s>>j&1 == 0 {
-			continue
-		}
-		sum += sign * v * determinant(p, rows[1:], s&^(1<<j))
-		sign = -sign
-	}
-	return (sum%p + p) % p
-}

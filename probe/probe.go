@@ -70,19 +70,30 @@ func RowsApart[A number](first, second [][]A) bool {
 
 // Memory holds a call that takes a list and answers one to P2, and tells what
 // it breaks ("", if nothing).
-func Memory[A number](l []int, do func([]int) []A) string { return memory(plain(mark), l, do) }
+func Memory[A number](l []int, do func([]int) []A) string { return memory(plain(mark), l, mark-1, do) }
 
 // MemoryOfGraph is Memory for a call that takes a graph.
 func MemoryOfGraph[A number](g api.Graph, do func(api.Graph) []A) string {
 	edges := plain(api.Edge{A: mark, B: mark})
-	return memory(edges, g.Edges, func(l []api.Edge) []A { return do(api.Graph{N: g.N, Edges: l}) })
+	return memory(edges, g.Edges, mark-1, func(l []api.Edge) []A { return do(api.Graph{N: g.N, Edges: l}) })
 }
 
 // MemoryOfMatrix is Memory for a call that takes a matrix: its list of rows,
 // and each row.
 func MemoryOfMatrix(x api.Matrix, do func(api.Matrix) []int) string {
 	rows := things[[]int]{mark: []int{mark}, copied: Roomy, isAsWas: Untouched}
-	return memory(rows, x.Rows, func(l [][]int) []int { return do(api.Matrix{P: x.P, Cols: x.Cols, Rows: l}) })
+	return memory(rows, x.Rows, mark-1, func(l [][]int) []int { return do(api.Matrix{P: x.P, Cols: x.Cols, Rows: l}) })
+}
+
+// MemoryOfPlanes is Memory for a call that takes planes: their list, and each
+// Normal. The answer may be a list of anything; other is what it can not hold.
+func MemoryOfPlanes[A comparable](l []api.Plane, other A, do func([]api.Plane) []A) string {
+	planes := things[api.Plane]{
+		mark:    api.Plane{Normal: []int{mark}, At: mark},
+		copied:  func(p api.Plane) api.Plane { return api.Plane{Normal: Roomy(p.Normal), At: p.At} },
+		isAsWas: func(p, was api.Plane) bool { return p.At == was.At && Untouched(p.Normal, was.Normal) },
+	}
+	return memory(planes, l, other, do)
 }
 
 // things that a list may hold: one that no list holds, how one is copied, and
@@ -127,8 +138,8 @@ func overwrite[T any](l []T, by T) {
 	}
 }
 
-// memory is Memory for a list of anything.
-func memory[T any, A number](k things[T], l []T, do func([]T) []A) string {
+// memory is Memory for lists of anything; other is what overwrites an answer.
+func memory[T any, A comparable](k things[T], l []T, other A, do func([]T) []A) string {
 	handed := k.roomy(l)
 	first := do(handed)
 	if !k.untouched(handed, l) {
@@ -136,7 +147,7 @@ func memory[T any, A number](k things[T], l []T, do func([]T) []A) string {
 	}
 	kept := slices.Clone(first)
 	second := do(handed)
-	Overwrite(first)
+	overwrite(first, other)
 	if !k.untouched(handed, l) {
 		return "answers memory that was handed in"
 	}

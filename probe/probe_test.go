@@ -182,3 +182,48 @@ func TestKnown(t *testing.T) {
 		}
 	}
 }
+
+func TestMemoryOfPlanesTells(t *testing.T) {
+	l := []api.Plane{{Normal: []int{1, 2}, At: 3}, {Normal: []int{4, 5}, At: 6}}
+	signs := []api.Signs{{Above: 1}, {Below: 1}}
+	for _, x := range []struct {
+		want string
+		do   func(l []api.Plane) []api.Signs
+	}{
+		{"", func([]api.Plane) []api.Signs { return slices.Clone(signs) }},
+		{"changes what is handed in", func(l []api.Plane) []api.Signs { l[1].At = 7; return nil }},
+		{"changes what is handed in", func(l []api.Plane) []api.Signs { _ = append(l, api.Plane{}); return nil }},
+		{"changes what is handed in", func(l []api.Plane) []api.Signs { l[1].Normal[0] = 7; return nil }},
+		{"changes what is handed in", func(l []api.Plane) []api.Signs { _ = append(l[1].Normal, 7); return nil }},
+		{"hangs on earlier answers", func([]api.Plane) []api.Signs { return signs }},
+	} {
+		if told := probe.MemoryOfPlanes(l, api.Signs{Above: -1}, x.do); told != x.want {
+			t.Errorf("told %q, want %q", told, x.want)
+		}
+	}
+}
+
+func TestRankOfRows(t *testing.T) {
+	for _, x := range []struct {
+		rows [][]int
+		want int
+	}{
+		{nil, 0},
+		{[][]int{{}, {}}, 0},
+		{[][]int{{0, 0}, {0, 0}}, 0},
+		{[][]int{{0, 0}, {0, -3}}, 1},
+		{[][]int{{1, 2}, {-2, -4}, {500, 1000}}, 1},
+		{[][]int{{1, 2}, {2, 1}, {500, 1000}}, 2},
+		{[][]int{{0, 1, 1}, {0, 1, -1}, {0, 7, 9}}, 2},
+		{[][]int{{0, 1, 1}, {0, 1, -1}, {1, 7, 9}}, 3},
+		// The determinant is each of the primes.
+		{[][]int{{1<<31 - 1, 0}, {0, 1}}, 2},
+		{[][]int{{1<<31 - 19, 0}, {0, 1}}, 2},
+		{[][]int{{1000, 999}, {999, 998}}, 2},
+		{[][]int{{1000, 998}, {500, 499}}, 1},
+	} {
+		if got := probe.RankOfRows(x.rows); got != x.want {
+			t.Errorf("%v: %d, want %d", x.rows, got, x.want)
+		}
+	}
+}
