@@ -81,8 +81,13 @@ func MemoryOfGraph[A number](g api.Graph, do func(api.Graph) []A) string {
 // MemoryOfMatrix is Memory for a call that takes a matrix: its list of rows,
 // and each row.
 func MemoryOfMatrix(x api.Matrix, do func(api.Matrix) []int) string {
-	rows := things[[]int]{mark: []int{mark}, copied: Roomy, isAsWas: Untouched}
-	return memory(rows, x.Rows, mark-1, func(l [][]int) []int { return do(api.Matrix{P: x.P, Cols: x.Cols, Rows: l}) })
+	return MemoryOfRows(x.Rows, mark-1, func(l [][]int) []int { return do(api.Matrix{P: x.P, Cols: x.Cols, Rows: l}) })
+}
+
+// MemoryOfRows is Memory for a call that takes rows: their list, and each row.
+// The answer may be a list of anything; other is what it can not hold.
+func MemoryOfRows[A comparable](l [][]int, other A, do func([][]int) []A) string {
+	return memory(things[[]int]{mark: []int{mark}, copied: Roomy, isAsWas: Untouched}, l, other, do)
 }
 
 // MemoryOfPlanes is Memory for a call that takes planes: their list, and each

@@ -126,6 +126,28 @@ func TestMemoryOfMatrixTells(t *testing.T) {
 	}
 }
 
+func TestMemoryOfRowsTells(t *testing.T) {
+	signs := []api.Signs{{Above: 1}, {Below: 1}}
+	for _, x := range []struct {
+		want string
+		do   func(l [][]int) []api.Signs
+	}{
+		{"", func([][]int) []api.Signs { return slices.Clone(signs) }},
+		{"changes what is handed in", func(l [][]int) []api.Signs { l[1] = nil; return nil }},
+		{"changes what is handed in", func(l [][]int) []api.Signs { _ = append(l, nil); return nil }},
+		{"changes what is handed in", func(l [][]int) []api.Signs { l[1][0] = 7; return nil }},
+		{"changes what is handed in", func(l [][]int) []api.Signs { _ = append(l[1], 7); return nil }},
+		{"hangs on earlier answers", func([][]int) []api.Signs { return signs }},
+	} {
+		if told := probe.MemoryOfRows([][]int{{1, 2}, {3, 4}}, api.Signs{Above: -1}, x.do); told != x.want {
+			t.Errorf("told %q, want %q", told, x.want)
+		}
+	}
+	if told := probe.MemoryOfRows([][]int{{1, 2}, {3, 4}}, -1, func(l [][]int) []int { return l[1][2:] }); told != "answers memory that was handed in" {
+		t.Errorf("told %q", told)
+	}
+}
+
 func TestSmall(t *testing.T) {
 	// Of one, two and three vertices, with up to three edges.
 	if got, want := len(probe.SmallGraphs()), 4+(1+4+16+64)+(1+9+81+729); got != want {

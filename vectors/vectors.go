@@ -1,7 +1,7 @@
 // Package vectors: lists of whole numbers, all of one length, as a matroid, and
-// the signs that functions have at them. It takes them as they are: at most
-// eight, of at most four numbers from -1000 to 1000, so that every determinant
-// has room in an int64.
+// the signs of sums that are nought, and of functions. It takes them as they
+// are: at most eight, of at most four numbers from -1000 to 1000, so that every
+// determinant has room in an int64.
 package vectors
 
 import (
@@ -19,11 +19,39 @@ func Matroid(l [][]int) api.Matroid {
 	})
 }
 
+// Circuits: the signs of the multiples in all sums that are nought and have of
+// the vectors just those of a circuit, each once.
+func Circuits(l [][]int) []api.Signs {
+	circuits, _ := axioms.Circuits(Matroid(l))
+	var all []api.Signs
+	for _, c := range circuits {
+		all = append(all, bothWays(multiples(l, c))...)
+	}
+	return all
+}
+
+// Cocircuits: the signs of all functions that are 0 at a hyperplane and at
+// nothing else, each once. The determinant of a basis of the hyperplane and one
+// vector more is such a function of that vector, in the columns in which the
+// vectors together are spread; all others are multiples of it.
+func Cocircuits(l [][]int) []api.Signs {
+	m := Matroid(l)
+	columns, _ := spread(picked(l, m.Bases[0]))
+	hyperplanes, _ := axioms.Hyperplanes(m)
+	var all []api.Signs
+	for _, h := range hyperplanes {
+		rows := picked(l, basisWithin(m, h))
+		x := signs(l, func(v []int) int64 { return Determinant(append([][]int{v}, rows...), columns) })
+		all = append(all, bothWays(x)...)
+	}
+	return all
+}
+
 // Covectors: the signs of all functions of vectors (sums of numbers times
 // coordinates), each once: the vectors at which one is above 0, and those at
 // which it is below. All come of the cocircuits, one laid behind the other.
 func Covectors(l [][]int) []api.Signs {
-	steps := cocircuits(l)
+	steps := Cocircuits(l)
 	all := []api.Signs{{}}
 	found := map[api.Signs]int{{}: 1}
 	for i := 0; i < len(all); i++ {
@@ -80,21 +108,28 @@ func spread(rows [][]int) (columns int, ok bool) {
 	return 0, false
 }
 
-// cocircuits: the signs of the functions that are 0 at a hyperplane and at
-// nothing else. The determinant of a basis of the hyperplane and one vector
-// more is such a function of that vector, in the columns in which the vectors
-// together are spread; all others are multiples of it.
-func cocircuits(l [][]int) []api.Signs {
-	m := Matroid(l)
-	columns, _ := spread(picked(l, m.Bases[0]))
-	hyperplanes, _ := axioms.Hyperplanes(m)
-	var all []api.Signs
-	for _, h := range hyperplanes {
-		rows := picked(l, basisWithin(m, h))
-		x := signs(l, func(v []int) int64 { return Determinant(append([][]int{v}, rows...), columns) })
-		all = append(all, x, api.Signs{Above: x.Below, Below: x.Above})
+// multiples: the signs with which the vectors of a circuit add up to nought. By
+// Cramer's rule the multiple of each is the determinant of the others, its sign
+// turned at every second one. The columns in which all but one are spread do
+// for each, since whichever is left out, the others span the same.
+func multiples(l [][]int, circuit int) api.Signs {
+	columns, _ := spread(picked(l, circuit&^sets.Lowest(circuit)))
+	sign := int64(1)
+	var x api.Signs
+	for one := range sets.Singles(circuit) {
+		if sign*Determinant(picked(l, circuit&^one), columns) > 0 {
+			x.Above |= one
+		} else {
+			x.Below |= one
+		}
+		sign = -sign
 	}
-	return all
+	return x
+}
+
+// bothWays: signs, and their opposite.
+func bothWays(x api.Signs) []api.Signs {
+	return []api.Signs{x, {Above: x.Below, Below: x.Above}}
 }
 
 // basisWithin a set: the most that a basis has of it.

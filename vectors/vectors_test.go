@@ -204,3 +204,74 @@ func TestCovectorsByHand(t *testing.T) {
 		}
 	}
 }
+
+// bothWaysOn: are signs told just on these sets, in both ways, each once?
+func bothWaysOn(l []api.Signs, isOne func(s int) bool, n int) bool {
+	count := 0
+	for s := range 1 << n {
+		if isOne(s) {
+			count += 2
+		}
+	}
+	for i, x := range l {
+		opposite := api.Signs{Above: x.Below, Below: x.Above}
+		if x.Above&x.Below != 0 || !isOne(x.Above|x.Below) || slices.Contains(l[:i], x) || !slices.Contains(l, opposite) {
+			return false
+		}
+	}
+	return len(l) == count
+}
+
+// isAcross: the values of a function, times the multiples of a sum that is
+// nought, add up to 0: so if one of these is above 0, another one is below.
+func isAcross(a, b api.Signs) bool {
+	return (a.Above&b.Above|a.Below&b.Below != 0) == (a.Above&b.Below|a.Below&b.Above != 0)
+}
+
+// TestCircuits and cocircuits. Of a circuit there is one way and its opposite
+// alone that is across all cocircuits: for any two of its elements one meets it
+// just there.
+func TestCircuits(t *testing.T) {
+	for _, l := range some() {
+		m := vectors.Matroid(l)
+		circuits, cocircuits := vectors.Circuits(l), vectors.Cocircuits(l)
+		if !bothWaysOn(circuits, func(s int) bool { return probe.Circuit(m, s) }, m.N) {
+			t.Errorf("Circuits(%v) = %v", l, circuits)
+		}
+		if !bothWaysOn(cocircuits, func(s int) bool { return probe.Hyperplane(m, 1<<m.N-1-s) }, m.N) {
+			t.Errorf("Cocircuits(%v) = %v", l, cocircuits)
+		}
+		for _, c := range circuits {
+			for _, k := range cocircuits {
+				if !isAcross(c, k) {
+					t.Errorf("of %v the circuit %v is not across %v", l, c, k)
+				}
+			}
+		}
+	}
+}
+
+func TestCircuitsByHand(t *testing.T) {
+	for _, x := range []struct {
+		l                    [][]int
+		circuits, cocircuits []api.Signs
+	}{
+		{nil, nil, nil},
+		{[][]int{{0, 0}}, []api.Signs{{Below: 1}, {Above: 1}}, nil},
+		{[][]int{{0, 7}}, nil, []api.Signs{{Below: 1}, {Above: 1}}},
+		{[][]int{{1, 2}, {500, 1000}}, []api.Signs{{Above: 1, Below: 2}, {Above: 2, Below: 1}}, []api.Signs{{Below: 3}, {Above: 3}}},
+		{[][]int{{1, 2}, {-500, -1000}}, []api.Signs{{Below: 3}, {Above: 3}}, []api.Signs{{Above: 1, Below: 2}, {Above: 2, Below: 1}}},
+		{[][]int{{1000, 999}, {999, 998}}, nil, []api.Signs{{Below: 1}, {Below: 2}, {Above: 1}, {Above: 2}}},
+		{
+			[][]int{{1000, 0}, {0, -1000}, {999, -1000}}, []api.Signs{{Above: 3, Below: 4}, {Above: 4, Below: 3}},
+			[]api.Signs{{Below: 5}, {Below: 6}, {Above: 1, Below: 2}, {Above: 2, Below: 1}, {Above: 5}, {Above: 6}},
+		},
+	} {
+		if got := inOrder(vectors.Circuits(x.l)); !slices.Equal(got, x.circuits) {
+			t.Errorf("Circuits(%v) = %v, want %v", x.l, got, x.circuits)
+		}
+		if got := inOrder(vectors.Cocircuits(x.l)); !slices.Equal(got, x.cocircuits) {
+			t.Errorf("Cocircuits(%v) = %v, want %v", x.l, got, x.cocircuits)
+		}
+	}
+}
