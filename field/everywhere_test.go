@@ -109,8 +109,10 @@ func TestMemory(t *testing.T) {
 	for _, x := range append(some(), all...) {
 		for _, c := range calls() {
 			for _, with := range []func(z api.Matrix) answer{
-				func(z api.Matrix) answer { return c.do(z, unit(x.P, max(min(x.Cols, 6), 0), max(min(x.Cols, 6), 0))) },
-				func(z api.Matrix) answer { return c.do(unit(x.P, len(x.Rows), len(x.Rows)), z) },
+				func(z api.Matrix) answer {
+					return c.do(z, probe.Unit(x.P, max(min(x.Cols, 6), 0), max(min(x.Cols, 6), 0)))
+				},
+				func(z api.Matrix) answer { return c.do(probe.Unit(x.P, len(x.Rows), len(x.Rows)), z) },
 				func(z api.Matrix) answer { return c.do(z, z) },
 			} {
 				if broken := holdMemory(x, with); broken != "" {

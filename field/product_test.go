@@ -88,7 +88,7 @@ func TestDeterminantByHand(t *testing.T) {
 		{probe.MatrixOf(3, 2, 1, 2, 2, 1), 0},
 		{probe.MatrixOf(7, 3, 0, 1, 0, 0, 0, 1, 1, 0, 0), 1},
 		{probe.MatrixOf(7, 3, 2, 0, 0, 0, 3, 0, 0, 0, 5), 2},
-		{unit(5, 6, 6), 1},
+		{probe.Unit(5, 6, 6), 1},
 	} {
 		if got, e := field.Determinant(x.x); e != api.OK || got != x.want {
 			t.Errorf("Determinant(%v) = %d, %d, want %d", x.x, got, e, x.want)
@@ -187,7 +187,7 @@ func TestTimesByHand(t *testing.T) {
 // TestTimesShape: alike but for the modulus, or for one column or row.
 func TestTimesShape(t *testing.T) {
 	for _, x := range []struct{ x, y api.Matrix }{
-		{unit(2, 2, 2), unit(3, 2, 2)}, {unit(7, 2, 2), unit(5, 2, 2)},
+		{probe.Unit(2, 2, 2), probe.Unit(3, 2, 2)}, {probe.Unit(7, 2, 2), probe.Unit(5, 2, 2)},
 		{api.Matrix{P: 2}, api.Matrix{P: 3}},
 		{noughts(2, 1, 2), noughts(2, 1, 2)}, {noughts(2, 2, 1), noughts(2, 2, 1)},
 		{noughts(2, 1, 3), noughts(2, 2, 3)}, {noughts(2, 1, 7), noughts(2, 6, 7)}, {noughts(2, 0, 8), noughts(2, 6, 8)},

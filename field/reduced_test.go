@@ -199,23 +199,12 @@ func TestReducedByHand(t *testing.T) {
 	}
 }
 
-// unit: the first so many columns have one row each.
-func unit(p, rows, cols int) api.Matrix {
-	x := api.Matrix{P: p, Cols: cols}
-	for i := range rows {
-		row := make([]int, cols)
-		row[i] = 1
-		x.Rows = append(x.Rows, row)
-	}
-	return x
-}
-
 // TestKernelEdge: six rows are told, seven are not.
 func TestKernelEdge(t *testing.T) {
 	for _, p := range []int{2, 3, 5, 7} {
 		for cols := range 9 {
 			for rank := range min(cols, 6) + 1 {
-				x := unit(p, rank, cols)
+				x := probe.Unit(p, rank, cols)
 				got, e := field.Kernel(x)
 				if cols-rank > 6 {
 					if e != api.ErrLarge || !isZero(got) {

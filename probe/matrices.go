@@ -15,6 +15,17 @@ func MatrixOf(p, cols int, numbers ...int) api.Matrix {
 	return x
 }
 
+// Unit: the first so many columns have one row each.
+func Unit(p, rows, cols int) api.Matrix {
+	x := api.Matrix{P: p, Cols: cols}
+	for i := range rows {
+		row := make([]int, cols)
+		row[i] = 1
+		x.Rows = append(x.Rows, row)
+	}
+	return x
+}
+
 // SmallMatrices: all of so many rows and columns with at most some thousand
 // like them.
 func SmallMatrices() []api.Matrix {

@@ -44,6 +44,14 @@ func Rank(m api.Matroid, s int) int {
 	return most
 }
 
+// RanksAndSizes: how many sets of m have each rank and number of elements.
+func RanksAndSizes(m api.Matroid) (many [api.MaxGround + 1][api.MaxGround + 1]int64) {
+	for s := range 1 << m.N {
+		many[Rank(m, s)][len(Elements(s))]++
+	}
+	return many
+}
+
 // Flat: is s one of m?
 func Flat(m api.Matroid, s int) bool {
 	for x := range m.N {

@@ -22,14 +22,6 @@ func power(n, often int) *big.Int {
 	return product
 }
 
-// ranksAndSizes: how many sets of m have each rank and number of elements.
-func ranksAndSizes(m api.Matroid) (many [9][9]int64) {
-	for s := range 1 << m.N {
-		many[probe.Rank(m, s)][count(s)]++
-	}
-	return many
-}
-
 // valueBySets at x and y, by the words of P23.
 func valueBySets(r int, many [9][9]int64, x, y int) string {
 	sum := new(big.Int)
@@ -47,7 +39,7 @@ func valueBySets(r int, many [9][9]int64, x, y int) string {
 func TestAt(t *testing.T) {
 	at := []int{-1000, -999, -2, -1, 0, 1, 2, 3, 10, 999, 1000}
 	for _, m := range probe.Matroids() {
-		many := ranksAndSizes(m)
+		many := probe.RanksAndSizes(m)
 		for _, x := range at {
 			for _, y := range at {
 				want := valueBySets(rank(m), many, x, y)
