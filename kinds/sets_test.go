@@ -48,27 +48,8 @@ func holdTransversal(t *testing.T, n int, l []int) {
 }
 
 func TestTransversal(t *testing.T) {
-	for n := range 4 {
-		holdTransversal(t, n, nil)
-		for a := range 1 << n {
-			holdTransversal(t, n, []int{a})
-			for b := range 1 << n {
-				holdTransversal(t, n, []int{a, b})
-				for c := range 1 << n {
-					holdTransversal(t, n, []int{a, b, c})
-				}
-			}
-		}
-	}
-	var jumps probe.Jumps
-	for i := range 600 {
-		n := 4 + i%5
-		l := make([]int, jumps.Next(9))
-		for j := range l {
-			// What is in both is small; else all could be given anything.
-			l[j] = jumps.Next(1<<n) & jumps.Next(1<<n)
-		}
-		holdTransversal(t, n, l)
+	for _, x := range probe.SetLists() {
+		holdTransversal(t, x.N, x.L)
 	}
 }
 
@@ -98,32 +79,10 @@ func TestTransversalByHand(t *testing.T) {
 }
 
 func TestNoTransversal(t *testing.T) {
-	for _, n := range probe.Wide() {
-		for _, l := range probe.Lists() {
-			want := api.OK
-			if len(l) > 8 {
-				want = api.ErrLarge
-			}
-			for _, s := range l {
-				if n < 0 || n > 8 || s < 0 || s >= 1<<n {
-					want = api.ErrArg
-				}
-			}
-			if n < 0 || n > 8 {
-				want = api.ErrArg
-			}
-			got, e := kinds.Transversal(n, l)
-			if e != want || e != api.OK && !isRefusal(got, e, want) {
-				t.Errorf("Transversal(%d, %.10v) = %v, %d, want %d", n, l, got, e, want)
-			}
+	for _, x := range probe.WrongSets() {
+		if got, e := kinds.Transversal(x.N, x.L); !isRefusal(got, e, x.Want) {
+			t.Errorf("Transversal(%d, %.10v) = %v, %d, want %d", x.N, x.L, got, e, x.Want)
 		}
-	}
-	// Too many, and one that is no set: what is told first holds.
-	if got, e := kinds.Transversal(2, []int{1, 1, 1, 1, 1, 1, 1, 1, 4}); !isRefusal(got, e, api.ErrArg) {
-		t.Error(got, e)
-	}
-	if got, e := kinds.Transversal(2, make([]int, 9)); !isRefusal(got, e, api.ErrLarge) {
-		t.Error(got, e)
 	}
 }
 

@@ -161,6 +161,24 @@ func TestSmall(t *testing.T) {
 	}
 }
 
+func TestSets(t *testing.T) {
+	few := probe.SetLists()
+	// Up to three sets of no, one, two and three elements, and the others.
+	if got, want := len(few), 4+(1+2+4+8)+(1+4+16+64)+(1+8+64+512)+600; got != want {
+		t.Errorf("%d lists of sets, want %d", got, want)
+	}
+	for _, x := range few {
+		if slices.ContainsFunc(x.L, func(s int) bool { return s < 0 || s >= 1<<x.N }) || len(x.L) > 8 {
+			t.Error(x)
+		}
+	}
+	for _, x := range probe.WrongSets() {
+		if want := x.Want; want != api.ErrArg && (want != api.ErrLarge || len(x.L) <= 8) {
+			t.Error(x)
+		}
+	}
+}
+
 func TestWithIndependents(t *testing.T) {
 	for _, m := range probe.Matroids() {
 		got := probe.WithIndependents(m.N, func(s int) bool { return probe.Independent(m, s) })

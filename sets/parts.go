@@ -4,9 +4,29 @@ import (
 	"iter"
 	"math/bits"
 	"slices"
+
+	"rota/api"
 )
 
-// What follows is for the layers below: it takes sets as they are, without
+// CheckFew: ErrArg, if n elements there can not be, or an entry of l is no set
+// of them; else ErrLarge, if l has more than there can be elements.
+func CheckFew(n int, l []int) api.Errno {
+	// The empty set is one of any n elements that there can be.
+	if e := Check(n, 0); e != api.OK {
+		return e
+	}
+	for _, s := range l {
+		if e := Check(n, s); e != api.OK {
+			return e
+		}
+	}
+	if len(l) > api.MaxGround {
+		return api.ErrLarge
+	}
+	return api.OK
+}
+
+// What follows is for the layers below, too: it takes sets as they are, without
 // asking whether they are any.
 
 // Whole: the set of all of n elements.

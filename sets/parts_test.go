@@ -4,6 +4,8 @@ import (
 	"slices"
 	"testing"
 
+	"rota/api"
+	"rota/probe"
 	"rota/sets"
 )
 
@@ -64,6 +66,19 @@ func TestWhole(t *testing.T) {
 	for n := range 9 {
 		if got := elements(sets.Whole(n)); len(got) != n || n > 0 && got[n-1] != n-1 {
 			t.Errorf("Whole(%d) has %v", n, got)
+		}
+	}
+}
+
+func TestCheckFew(t *testing.T) {
+	for _, x := range probe.SetLists() {
+		if got := sets.CheckFew(x.N, x.L); got != api.OK {
+			t.Errorf("CheckFew(%d, %v) = %d", x.N, x.L, got)
+		}
+	}
+	for _, x := range probe.WrongSets() {
+		if got := sets.CheckFew(x.N, x.L); got != x.Want {
+			t.Errorf("CheckFew(%d, %.10v) = %d, want %d", x.N, x.L, got, x.Want)
 		}
 	}
 }
