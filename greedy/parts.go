@@ -12,15 +12,7 @@ import (
 // CheckWeights: is w a weight for each of n elements? The layers below that
 // are handed weights ask it too.
 func CheckWeights(n int, w []int) api.Errno {
-	if len(w) != n {
-		return api.ErrShape
-	}
-	for _, x := range w {
-		if x < -api.MaxNumber || x > api.MaxNumber {
-			return api.ErrArg
-		}
-	}
-	return api.OK
+	return sets.CheckNumbers(n, w, -api.MaxNumber, api.MaxNumber)
 }
 
 // Weigh the elements of s together: for the layers below, too; w and s are

@@ -122,3 +122,17 @@ func TestGraphicByHand(t *testing.T) {
 		hold(t, "Graphic", x.g, got, e, x.want)
 	}
 }
+
+// TestReached: by all edges, by none, and by some.
+func TestReached(t *testing.T) {
+	for _, g := range probe.Graphs() {
+		all := 1<<len(g.Edges) - 1
+		for v := range g.N {
+			for _, s := range []int{0, all, all >> 1, all & 0b1010_1010, all & 0b0110_0110, all & 0b1111_0001} {
+				if got, want := kinds.Reached(g, s, v), probe.Part(g, s, v); got != want {
+					t.Errorf("Reached(%v, %d, %d) = %d, want %d", g, s, v, got, want)
+				}
+			}
+		}
+	}
+}

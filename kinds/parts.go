@@ -46,6 +46,22 @@ func hasRing(g api.Graph, s int) bool {
 	return false
 }
 
+// Reached: the vertices that hang together with v by these edges, in whichever
+// direction they are. It is for the layers below, and takes what it is handed
+// as it is.
+func Reached(g api.Graph, edges, v int) int {
+	found := 1 << v
+	for range g.N {
+		for i, edge := range g.Edges {
+			ends := 1<<edge.A | 1<<edge.B
+			if sets.Within(1<<i, edges) && ends&found != 0 {
+				found |= ends
+			}
+		}
+	}
+	return found
+}
+
 // column of a matrix; in rows that the matrix has not it is 0.
 type column [api.MaxRows]int
 

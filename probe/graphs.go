@@ -82,6 +82,28 @@ func Graphs() []api.Graph {
 	return all
 }
 
+// Part of g: the vertices that hang together with v by the edges of s.
+func Part(g api.Graph, s, v int) int {
+	found := 0
+	var reach func(v int)
+	reach = func(v int) {
+		if found>>v&1 == 1 {
+			return
+		}
+		found |= 1 << v
+		for _, i := range Elements(s) {
+			switch v {
+			case g.Edges[i].A:
+				reach(g.Edges[i].B)
+			case g.Edges[i].B:
+				reach(g.Edges[i].A)
+			}
+		}
+	}
+	reach(v)
+	return found
+}
+
 // WrongGraphs are none.
 func WrongGraphs() []api.Graph {
 	wrong := []api.Graph{

@@ -161,6 +161,18 @@ func TestSmall(t *testing.T) {
 	}
 }
 
+func TestPart(t *testing.T) {
+	g := probe.GraphOf(5, 0, 1, 2, 1, 3, 2, 3, 3, 4, 4)
+	for _, x := range []struct{ s, v, want int }{
+		{0, 0, 1}, {0, 4, 16}, {31, 0, 15}, {31, 1, 15}, {31, 3, 15}, {31, 4, 16},
+		{1, 0, 3}, {1, 1, 3}, {1, 2, 4}, {2, 1, 6}, {2, 2, 6}, {5, 0, 3}, {5, 3, 12}, {24, 3, 8},
+	} {
+		if got := probe.Part(g, x.s, x.v); got != x.want {
+			t.Errorf("by %d with %d hang together %d, want %d", x.s, x.v, got, x.want)
+		}
+	}
+}
+
 func TestSets(t *testing.T) {
 	few := probe.SetLists()
 	// Up to three sets of no, one, two and three elements, and the others.

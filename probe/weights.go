@@ -57,20 +57,23 @@ type RefusedList struct {
 }
 
 // NoWeights of n elements, beside what P16 says of them.
-func NoWeights(n int) []RefusedList {
-	w := make([]int, n)
+func NoWeights(n int) []RefusedList { return NoNumbers(n, -1000, 1000) }
+
+// NoNumbers: not n of them, or not all from least to most.
+func NoNumbers(n, least, most int) []RefusedList {
+	right := slices.Repeat([]int{most}, n)
 	wrong := []RefusedList{
-		{append(slices.Clone(w), 0), api.ErrShape},
-		// It has a number that is no weight, but what is told first holds.
-		{append(slices.Clone(w), 1001), api.ErrShape},
+		{append(slices.Clone(right), least), api.ErrShape},
+		// It has a number that is none, but what is told first holds.
+		{append(slices.Clone(right), most+1), api.ErrShape},
 	}
 	if n > 0 {
-		wrong = append(wrong, RefusedList{w[1:], api.ErrShape})
+		wrong = append(wrong, RefusedList{right[1:], api.ErrShape})
 	}
-	for i := range w {
-		for _, x := range append(Wide(), -1001, 1001) {
-			if x < -1000 || x > 1000 {
-				l := slices.Clone(w)
+	for i := range right {
+		for _, x := range append(Wide(), least-1, most+1) {
+			if x < least || x > most {
+				l := slices.Clone(right)
 				l[i] = x
 				wrong = append(wrong, RefusedList{l, api.ErrArg})
 			}

@@ -26,6 +26,20 @@ func CheckFew(n int, l []int) api.Errno {
 	return api.OK
 }
 
+// CheckNumbers: ErrShape, if l has not a number for each of n things; else
+// ErrArg, if one of them is not from least to most.
+func CheckNumbers(n int, l []int, least, most int) api.Errno {
+	if len(l) != n {
+		return api.ErrShape
+	}
+	for _, x := range l {
+		if x < least || x > most {
+			return api.ErrArg
+		}
+	}
+	return api.OK
+}
+
 // What follows is for the layers below, too: it takes sets as they are, without
 // asking whether they are any.
 

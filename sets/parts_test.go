@@ -82,3 +82,21 @@ func TestCheckFew(t *testing.T) {
 		}
 	}
 }
+
+func TestCheckNumbers(t *testing.T) {
+	for _, x := range []struct{ least, most int }{{-1000, 1000}, {1, 1000}, {0, 100}, {5, 5}} {
+		for n := range 4 {
+			for k := x.least; k <= x.most; k++ {
+				l := slices.Repeat([]int{k}, n)
+				if got := sets.CheckNumbers(n, l, x.least, x.most); got != api.OK {
+					t.Errorf("CheckNumbers(%d, %v, %d, %d) = %d", n, l, x.least, x.most, got)
+				}
+			}
+			for _, wrong := range probe.NoNumbers(n, x.least, x.most) {
+				if got := sets.CheckNumbers(n, wrong.L, x.least, x.most); got != wrong.Want {
+					t.Errorf("CheckNumbers(%d, %.10v, %d, %d) = %d, want %d", n, wrong.L, x.least, x.most, got, wrong.Want)
+				}
+			}
+		}
+	}
+}

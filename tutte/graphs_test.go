@@ -11,27 +11,11 @@ import (
 
 // partsOf g: in how many its vertices hang together by the edges of s.
 func partsOf(g api.Graph, s int) int {
-	var reached [api.MaxVertex]bool
-	var reach func(v int)
-	reach = func(v int) {
-		if reached[v] {
-			return
-		}
-		reached[v] = true
-		for _, i := range probe.Elements(s) {
-			switch v {
-			case g.Edges[i].A:
-				reach(g.Edges[i].B)
-			case g.Edges[i].B:
-				reach(g.Edges[i].A)
-			}
-		}
-	}
-	parts := 0
+	parts, reached := 0, 0
 	for v := range g.N {
-		if !reached[v] {
+		if reached>>v&1 == 0 {
 			parts++
-			reach(v)
+			reached |= probe.Part(g, s, v)
 		}
 	}
 	return parts
